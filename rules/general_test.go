@@ -1,0 +1,182 @@
+package rules_test
+
+import (
+	"fmt"
+	"slices"
+	"strings"
+	"testing"
+
+	"gamehall/api"
+	"gamehall/rules"
+)
+
+// The general rules of the document, as far as they concern package rules.
+
+// callAll calls each function that has rules.
+func callAll(r api.Rules) {
+	rules.Check(r)
+	rules.Mirror(r)
+	for _, n := range []int{-1, 0, 1, 1 << 32} {
+		rules.Last(r, n, n)
+		rules.Last(r, 1, n)
+	}
+}
+
+// TestP1 needs no conditions: a panic, or a call without an end, fails it.
+func TestP1(t *testing.T) {
+	callAll(api.Rules{})
+	for _, n := range []int{1, 6, 7, 64, 1 << 12, 1 << 16} {
+		rules.Name(strings.Repeat("A", n))
+		rules.Name(strings.Repeat("\xff", n))
+		for _, list := range []func(r *api.Rules){
+			func(r *api.Rules) { r.Name = strings.Repeat("A", n) },
+			func(r *api.Rules) { r.Pieces = make([]api.RulePiece, n) },
+			func(r *api.Rules) { r.Pieces = slices.Repeat([]api.RulePiece{{Letter: 'A'}}, n) },
+			func(r *api.Rules) { r.Pieces[0].Ways = make([]api.RuleWay, n) },
+			func(r *api.Rules) { r.Start = make([]int, n) },
+			func(r *api.Rules) { r.Ends = make([]api.RuleEnd, n) },
+		} {
+			r := sample()
+			list(&r)
+			callAll(r)
+		}
+	}
+	all := sample()
+	for i := range spots(&all) {
+		for _, n := range extremes {
+			r := sample()
+			*spots(&r)[i] = n
+			callAll(r)
+			// All others are at and beyond their bounds, too.
+			for j, spot := range spots(&r) {
+				*spot = extremes[(i+j)%len(extremes)]
+			}
+			callAll(r)
+		}
+	}
+}
+
+// roomy returns a copy of a slice with unused capacity, which is not empty.
+func roomy[T any](l []T, unused T) []T {
+	whole := append(slices.Clone(l), unused, unused, unused)
+	return whole[:len(l)]
+}
+
+// roomySample returns the sample with unused capacity everywhere.
+func roomySample() api.Rules {
+	r := sample()
+	for i := range r.Pieces {
+		r.Pieces[i].Ways = roomy(r.Pieces[i].Ways, api.RuleWay{DX: 77})
+	}
+	r.Pieces = roomy(r.Pieces, api.RulePiece{Letter: 'U'})
+	r.Start = roomy(r.Start, 88)
+	r.Ends = roomy(r.Ends, api.RuleEnd{Count: 99})
+	return r
+}
+
+// memory returns the text of all memory of rules, with what is behind the ends of their slices.
+func memory(r api.Rules) string {
+	s := fmt.Sprint(r, r.Pieces[:cap(r.Pieces)], r.Start[:cap(r.Start)], r.Ends[:cap(r.Ends)])
+	for _, p := range r.Pieces {
+		s += fmt.Sprint(p.Ways[:cap(p.Ways)])
+	}
+	return s
+}
+
+func TestP2ArgumentsStay(t *testing.T) {
+	for _, c := range append(wrongs(), change{"the sample", func(*api.Rules) {}, api.OK}) {
+		r := roomySample()
+		c.do(&r)
+		before := memory(r)
+		callAll(r)
+		if after := memory(r); after != before {
+			t.Errorf("%s: the argument became %s, want %s", c.what, after, before)
+		}
+	}
+}
+
+// spoil overwrites all memory of a slice, with what is behind its end.
+func spoil[T any](l []T, with T) {
+	for i := range l[:cap(l)] {
+		l[:cap(l)][i] = with
+	}
+}
+
+// spoilRules overwrites all memory of rules.
+func spoilRules(r api.Rules) {
+	for _, p := range r.Pieces {
+		spoil(p.Ways, api.RuleWay{DX: -77, DY: -77, Most: -77, Take: -77})
+	}
+	spoil(r.Pieces, api.RulePiece{Letter: '?', Hand: -88, Promote: -88})
+	spoil(r.Start, -99)
+	spoil(r.Ends, api.RuleEnd{Kind: -66, Piece: -66, Count: -66})
+}
+
+// TestP2ResultsAreNew changes a result, and looks whether the argument, or results of equal calls, have changed with it.
+func TestP2ResultsAreNew(t *testing.T) {
+	r := roomySample()
+	before := memory(r)
+	spoiled, _ := rules.Mirror(r)
+	kept, _ := rules.Mirror(r)
+	want := fmt.Sprint(spoiled)
+	spoilRules(spoiled)
+	if after := memory(r); after != before {
+		t.Errorf("after a change of the result the argument is %s, want %s", after, before)
+	}
+	if got := fmt.Sprint(kept); got != want {
+		t.Errorf("after a change of the result that of another call is %s, want %s", got, want)
+	}
+	if again, err := rules.Mirror(r); fmt.Sprint(again) != want || err != api.OK {
+		t.Errorf("after a change of the result an equal call has %v, %d, want %s", again, err, want)
+	}
+}
+
+// TestP2ArgumentsAreNotRetained changes the argument after the call.
+func TestP2ArgumentsAreNotRetained(t *testing.T) {
+	r := roomySample()
+	m, _ := rules.Mirror(r)
+	want, _ := rules.Mirror(sample())
+	spoilRules(r)
+	if !equal(m, want) {
+		t.Errorf("after a change of the argument: %+v, want %+v", m, want)
+	}
+}
+
+// TestP2ResultsAreApart has an argument whose types share their ways: those of the result do not.
+func TestP2ResultsAreApart(t *testing.T) {
+	r := sample()
+	way := api.RuleWay{DX: 1, DY: 1, Most: 1}
+	shared := []api.RuleWay{way, way}
+	for i := range r.Pieces {
+		r.Pieces[i].Ways = shared[:1+i%2]
+	}
+	m, _ := rules.Mirror(r)
+	for i := range m.Pieces {
+		spoil(m.Pieces[i].Ways, api.RuleWay{})
+		for j := i + 1; j < len(m.Pieces); j++ {
+			if slices.ContainsFunc(m.Pieces[j].Ways, func(w api.RuleWay) bool { return w != way }) {
+				t.Errorf("the types %d and %d of the result share memory", i, j)
+			}
+		}
+	}
+}
+
+// TestP2Deterministic compares equal calls with others between them.
+func TestP2Deterministic(t *testing.T) {
+	call := func(w, h int) string {
+		r := full(w, h, uint64(w+h))
+		m, _ := rules.Mirror(r)
+		first, _ := rules.Last(r, api.First, w-1)
+		second, _ := rules.Last(r, api.Second, w-1)
+		return fmt.Sprint(rules.Check(r), rules.Name(r.Name), m, first, second)
+	}
+	var before []string
+	for _, b := range boards() {
+		before = append(before, call(b[0], b[1]))
+	}
+	for i, b := range boards() {
+		if got := call(b[0], b[1]); got != before[i] {
+			t.Errorf("equal calls for a board of %d by %d: %s, then %s", b[0], b[1], before[i], got)
+		}
+	}
+}
