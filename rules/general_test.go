@@ -8,6 +8,7 @@ import (
 
 	"gamehall/api"
 	"gamehall/rules"
+	"gamehall/testkit"
 )
 
 // The general rules of the document, as far as they concern package rules.
@@ -42,13 +43,13 @@ func TestP1(t *testing.T) {
 		}
 	}
 	all := sample()
-	for i := range spots(&all) {
+	for i := range testkit.RuleNumbers(&all) {
 		for _, n := range extremes {
 			r := sample()
-			*spots(&r)[i] = n
+			*testkit.RuleNumbers(&r)[i] = n
 			callAll(r)
 			// All others are at and beyond their bounds, too.
-			for j, spot := range spots(&r) {
+			for j, spot := range testkit.RuleNumbers(&r) {
 				*spot = extremes[(i+j)%len(extremes)]
 			}
 			callAll(r)
@@ -56,71 +57,27 @@ func TestP1(t *testing.T) {
 	}
 }
 
-// roomy returns a copy of a slice with unused capacity, which is not empty.
-func roomy[T any](l []T, unused T) []T {
-	whole := append(slices.Clone(l), unused, unused, unused)
-	return whole[:len(l)]
-}
-
-// roomySample returns the sample with unused capacity everywhere.
-func roomySample() api.Rules {
-	r := sample()
-	for i := range r.Pieces {
-		r.Pieces[i].Ways = roomy(r.Pieces[i].Ways, api.RuleWay{DX: 77})
-	}
-	r.Pieces = roomy(r.Pieces, api.RulePiece{Letter: 'U'})
-	r.Start = roomy(r.Start, 88)
-	r.Ends = roomy(r.Ends, api.RuleEnd{Count: 99})
-	return r
-}
-
-// memory returns the text of all memory of rules, with what is behind the ends of their slices.
-func memory(r api.Rules) string {
-	s := fmt.Sprint(r, r.Pieces[:cap(r.Pieces)], r.Start[:cap(r.Start)], r.Ends[:cap(r.Ends)])
-	for _, p := range r.Pieces {
-		s += fmt.Sprint(p.Ways[:cap(p.Ways)])
-	}
-	return s
-}
-
 func TestP2ArgumentsStay(t *testing.T) {
 	for _, c := range append(wrongs(), change{"the sample", func(*api.Rules) {}, api.OK}) {
-		r := roomySample()
+		r := testkit.RoomyRules(sample())
 		c.do(&r)
-		before := memory(r)
+		before := fmt.Sprint(testkit.WholeRules(r))
 		callAll(r)
-		if after := memory(r); after != before {
+		if after := fmt.Sprint(testkit.WholeRules(r)); after != before {
 			t.Errorf("%s: the argument became %s, want %s", c.what, after, before)
 		}
 	}
 }
 
-// spoil overwrites all memory of a slice, with what is behind its end.
-func spoil[T any](l []T, with T) {
-	for i := range l[:cap(l)] {
-		l[:cap(l)][i] = with
-	}
-}
-
-// spoilRules overwrites all memory of rules.
-func spoilRules(r api.Rules) {
-	for _, p := range r.Pieces {
-		spoil(p.Ways, api.RuleWay{DX: -77, DY: -77, Most: -77, Take: -77})
-	}
-	spoil(r.Pieces, api.RulePiece{Letter: '?', Hand: -88, Promote: -88})
-	spoil(r.Start, -99)
-	spoil(r.Ends, api.RuleEnd{Kind: -66, Piece: -66, Count: -66})
-}
-
 // TestP2ResultsAreNew changes a result, and looks whether the argument, or results of equal calls, have changed with it.
 func TestP2ResultsAreNew(t *testing.T) {
-	r := roomySample()
-	before := memory(r)
+	r := testkit.RoomyRules(sample())
+	before := fmt.Sprint(testkit.WholeRules(r))
 	spoiled, _ := rules.Mirror(r)
 	kept, _ := rules.Mirror(r)
 	want := fmt.Sprint(spoiled)
-	spoilRules(spoiled)
-	if after := memory(r); after != before {
+	testkit.SpoilRules(spoiled)
+	if after := fmt.Sprint(testkit.WholeRules(r)); after != before {
 		t.Errorf("after a change of the result the argument is %s, want %s", after, before)
 	}
 	if got := fmt.Sprint(kept); got != want {
@@ -133,10 +90,10 @@ func TestP2ResultsAreNew(t *testing.T) {
 
 // TestP2ArgumentsAreNotRetained changes the argument after the call.
 func TestP2ArgumentsAreNotRetained(t *testing.T) {
-	r := roomySample()
+	r := testkit.RoomyRules(sample())
 	m, _ := rules.Mirror(r)
 	want, _ := rules.Mirror(sample())
-	spoilRules(r)
+	testkit.SpoilRules(r)
 	if !equal(m, want) {
 		t.Errorf("after a change of the argument: %+v, want %+v", m, want)
 	}
@@ -152,7 +109,7 @@ func TestP2ResultsAreApart(t *testing.T) {
 	}
 	m, _ := rules.Mirror(r)
 	for i := range m.Pieces {
-		spoil(m.Pieces[i].Ways, api.RuleWay{})
+		testkit.Spoil(m.Pieces[i].Ways, api.RuleWay{})
 		for j := i + 1; j < len(m.Pieces); j++ {
 			if slices.ContainsFunc(m.Pieces[j].Ways, func(w api.RuleWay) bool { return w != way }) {
 				t.Errorf("the types %d and %d of the result share memory", i, j)

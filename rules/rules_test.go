@@ -10,6 +10,7 @@ import (
 
 	"gamehall/api"
 	"gamehall/rules"
+	"gamehall/testkit"
 )
 
 // The tests hold package rules against rules that are written out and changed in one or two places, and against slow definitions that note down all that is wrong, or walk from row to row.
@@ -432,26 +433,6 @@ func slowCheck(r api.Rules) api.Errno {
 	return append(noted, api.OK)[0]
 }
 
-// spots returns pointers to all numbers of rules.
-func spots(r *api.Rules) []*int {
-	l := []*int{&r.Width, &r.Height, &r.Blocked, &r.Quiet, &r.Repeat}
-	for i := range r.Pieces {
-		p := &r.Pieces[i]
-		l = append(l, &p.Hand, &p.Promote)
-		for j := range p.Ways {
-			w := &p.Ways[j]
-			l = append(l, &w.DX, &w.DY, &w.Most, &w.Take)
-		}
-	}
-	for i := range r.Start {
-		l = append(l, &r.Start[i])
-	}
-	for i := range r.Ends {
-		l = append(l, &r.Ends[i].Kind, &r.Ends[i].Piece, &r.Ends[i].Count)
-	}
-	return l
-}
-
 // TestP112CheckScattered changes up to three numbers, and sometimes the lists, without a pattern.
 func TestP112CheckScattered(t *testing.T) {
 	random := rand.New(rand.NewPCG(3, 112))
@@ -459,7 +440,7 @@ func TestP112CheckScattered(t *testing.T) {
 	for range 60000 {
 		r := sample()
 		for range random.IntN(4) {
-			l := spots(&r)
+			l := testkit.RuleNumbers(&r)
 			*l[random.IntN(len(l))] = extremes[random.IntN(len(extremes))]
 		}
 		if l := wrongs(); random.IntN(8) == 0 {
