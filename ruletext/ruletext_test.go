@@ -699,6 +699,55 @@ func TestP117ParseEachLetter(t *testing.T) {
 	}
 }
 
+// rowText returns a text with one row, and with types whose letters are the bytes of a string.
+func rowText(letters, row string) string {
+	s := fmt.Sprintf("game L %d 1\n", len(row))
+	for i := range len(letters) {
+		s += "piece " + letters[i:i+1] + " 0 -\n"
+	}
+	return s + "row " + row + "\nblocked loses\nquiet 0\nrepeat 0\n"
+}
+
+// TestP117ParseRowPairs has all pairs of a letter of a type and the byte behind it in a row, and so all characters of two bytes.
+func TestP117ParseRowPairs(t *testing.T) {
+	seen := map[api.Errno]int{}
+	for letter := range 256 {
+		for c := range 256 {
+			l := string([]byte{byte(letter)})
+			seen[compare(t, rowText(l, l+string([]byte{byte(c)})))]++
+		}
+	}
+	// A capital letter has three bytes that may follow it, any other byte has two, and a point has one; a space and a line feed are no letters.
+	ok, name := 26*3, (254-26-1)*2+1
+	if seen[api.OK] != ok || seen[api.ErrName] != name || seen[api.ErrSyntax] != 1<<16-ok-name {
+		t.Errorf("the errors came up so often: %v", seen)
+	}
+}
+
+// TestP117ParseRowCharacters has characters of two to four bytes in a row, of which some are letters of types: all must be.
+func TestP117ParseRowCharacters(t *testing.T) {
+	for _, character := range []string{"\u0080", "\u00e9", "\u07ff", "\u0800", "\u20ac", "\ud7ff", "\ufffd", "\uffff", "\U00010000", "\U0001f600", "\U0010ffff"} {
+		for chosen := range 1 << len(character) {
+			letters := "B"
+			for i := range len(character) {
+				if chosen>>i&1 == 1 {
+					letters += character[i : i+1]
+				}
+			}
+			isCell := func(c byte) bool { return strings.IndexByte(letters, c) >= 0 }
+			want := api.ErrSyntax
+			if !slices.ContainsFunc([]byte(character), func(c byte) bool { return !isCell(c) }) {
+				want = api.ErrName
+			}
+			for _, row := range []string{character, "." + character, character + ".", "Bb" + character + ".b", character + character} {
+				if err := compare(t, rowText(letters, row)); err != want {
+					t.Errorf("Parse(%q): %d, want %d", rowText(letters, row), err, want)
+				}
+			}
+		}
+	}
+}
+
 // TestP117ParseLines has texts with lines left out, doubled, exchanged, and moved.
 func TestP117ParseLines(t *testing.T) {
 	lines := strings.SplitAfter(sampleText, "\n")
