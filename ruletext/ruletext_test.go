@@ -12,6 +12,7 @@ import (
 	"gamehall/api"
 	"gamehall/rules"
 	"gamehall/ruletext"
+	"gamehall/testkit"
 )
 
 // The tests hold package ruletext against texts that are written out and changed in one or two places, and against slow definitions: a text that is put together from the table of the chapter, and a parser made of regular expressions.
@@ -99,37 +100,7 @@ func most() api.Rules {
 
 // scattered returns rules without a pattern, which are right, the same for equal seeds.
 func scattered(seed uint64) api.Rules {
-	random := rand.New(rand.NewPCG(seed, 4))
-	from := func(low, high int) int { return low + random.IntN(high-low+1) }
-	r := least(from(1, 8), from(1, 8))
-	r.Name = "Q" + fmt.Sprint(random.IntN(10000000))
-	letters := random.Perm(26)
-	types := from(1, 6)
-	r.Pieces = nil
-	for i := range types {
-		p := api.RulePiece{Letter: byte('A' + letters[i]), Hand: from(0, 64), Promote: from(0, types)}
-		for range random.IntN(5) {
-			p.Ways = append(p.Ways, api.RuleWay{DX: from(1, 7), DY: from(-7, 7), Most: from(1, 7), Take: from(0, 2)})
-			p.Ways = append(p.Ways, api.RuleWay{DX: from(-7, 7), DY: -from(1, 7), Most: from(1, 7), Take: from(0, 2)})
-		}
-		r.Pieces = append(r.Pieces, p)
-	}
-	for i := range r.Start {
-		r.Start[i] = random.IntN(2*types + 1)
-	}
-	r.Falls, r.Keeps = random.IntN(2) == 0, random.IntN(2) == 0
-	for range random.IntN(7) {
-		e := api.RuleEnd{Kind: random.IntN(3), Loses: random.IntN(2) == 0}
-		if e.Kind != api.EndLine {
-			e.Piece = random.IntN(types)
-		}
-		if e.Kind != api.EndReach {
-			e.Count = from(1, 64)
-		}
-		r.Ends = append(r.Ends, e)
-	}
-	r.Blocked, r.Quiet, r.Repeat = from(0, 2), from(0, 200), []int{0, 2, 3, 4, 5}[random.IntN(5)]
-	return r
+	return testkit.AnyRules(rand.New(rand.NewPCG(seed, 4)).IntN)
 }
 
 // equal compares all that rules say; a nil slice is an empty one.

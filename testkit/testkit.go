@@ -1,8 +1,9 @@
-// Package testkit has what the tests of several packages need to see whether arguments and results share memory. The program itself does not use it.
+// Package testkit has what the tests of several packages need: to see whether arguments and results share memory, and to have rules and positions of all kinds. The program itself does not use it.
 package testkit
 
 import (
 	"slices"
+	"strconv"
 
 	"gamehall/api"
 )
@@ -72,6 +73,109 @@ func RuleNumbers(r *api.Rules) []*int {
 	}
 	for i := range r.Ends {
 		l = append(l, &r.Ends[i].Kind, &r.Ends[i].Piece, &r.Ends[i].Count)
+	}
+	return l
+}
+
+// AnyRules returns rules that are right. What they say is chosen by choose, which returns a number from 0 to n-1 for each n of at least 1.
+func AnyRules(choose func(n int) int) api.Rules {
+	from := func(low, high int) int { return low + choose(high-low+1) }
+	r := api.Rules{Name: "Q" + strconv.Itoa(choose(10000000)), Width: from(1, api.MaxSide), Height: from(1, api.MaxSide)}
+	types := from(1, api.MaxTypes)
+	letters := []byte("ABCDEFGHIJKLMNOPQRSTUVWXYZ")
+	for range types {
+		at := choose(len(letters))
+		p := api.RulePiece{Letter: letters[at], Hand: from(0, api.MaxHand), Promote: from(0, types)}
+		letters = slices.Delete(letters, at, at+1)
+		for range choose(5) {
+			p.Ways = append(p.Ways,
+				api.RuleWay{DX: from(1, 7), DY: from(-7, 7), Most: from(1, 7), Take: from(api.TakeNever, api.TakeMust)},
+				api.RuleWay{DX: from(-7, 7), DY: -from(1, 7), Most: from(1, 7), Take: from(api.TakeNever, api.TakeMust)})
+		}
+		r.Pieces = append(r.Pieces, p)
+	}
+	r.Start = anyCells(r, choose)
+	r.Falls, r.Keeps = choose(2) == 0, choose(2) == 0
+	for range from(0, api.MaxEnds) {
+		e := api.RuleEnd{Kind: from(api.EndLine, api.EndTake), Loses: choose(2) == 0}
+		if e.Kind != api.EndLine {
+			e.Piece = choose(types)
+		}
+		if e.Kind != api.EndReach {
+			e.Count = from(1, 64)
+		}
+		r.Ends = append(r.Ends, e)
+	}
+	r.Blocked, r.Quiet = from(api.BlockedLoses, api.BlockedDraws), from(0, api.MaxQuiet)
+	if choose(5) > 0 {
+		r.Repeat = from(2, api.MaxRepeat)
+	}
+	return r
+}
+
+// anyCells returns cells of any kind; on about every second board most of them are empty.
+func anyCells(r api.Rules, choose func(n int) int) []int {
+	cells := make([]int, r.Width*r.Height)
+	sparse := choose(2) == 0
+	for i := range cells {
+		if !sparse || choose(4) == 0 {
+			cells[i] = choose(2*len(r.Pieces) + 1)
+		}
+	}
+	return cells
+}
+
+// AnyPosition returns a position of a game with rules that are right, chosen as by AnyRules. Empty hands, and numbers at their bounds, occur often.
+func AnyPosition(r api.Rules, choose func(n int) int) api.Position {
+	p := api.Position{Cells: anyCells(r, choose), Turn: choose(2), Quiet: choose(api.MaxQuiet + 1)}
+	for player := range p.Hands {
+		p.Hands[player] = make([]int, len(r.Pieces))
+		empty := choose(4) == 0
+		for kind := range p.Hands[player] {
+			if !empty {
+				p.Hands[player][kind] = []int{0, 1, choose(api.MaxHand + 1), choose(api.MaxHeld + 1), api.MaxHeld}[choose(5)]
+			}
+		}
+	}
+	return p
+}
+
+// RoomyPosition returns a copy of a position whose slices have unused capacity.
+func RoomyPosition(p api.Position) api.Position {
+	p.Cells = Roomy(p.Cells, 66)
+	for player := range p.Hands {
+		p.Hands[player] = Roomy(p.Hands[player], 77)
+	}
+	return p
+}
+
+// WholePosition returns a copy of a position together with the unused capacity of its slices.
+func WholePosition(p api.Position) api.Position {
+	p.Cells = Whole(p.Cells)
+	for player := range p.Hands {
+		p.Hands[player] = Whole(p.Hands[player])
+	}
+	return p
+}
+
+// SpoilPosition overwrites all memory of a position.
+func SpoilPosition(p api.Position) {
+	Spoil(p.Cells, -88)
+	for _, hand := range p.Hands {
+		Spoil(hand, -99)
+	}
+}
+
+// PositionNumbers returns pointers to all numbers of a position, so that a test can change each of them.
+func PositionNumbers(p *api.Position) []*int {
+	l := []*int{&p.Turn, &p.Quiet}
+	for i := range p.Cells {
+		l = append(l, &p.Cells[i])
+	}
+	for _, hand := range p.Hands {
+		for i := range hand {
+			l = append(l, &hand[i])
+		}
 	}
 	return l
 }

@@ -2,14 +2,16 @@ package testkit_test
 
 import (
 	"fmt"
+	"math/rand/v2"
 	"slices"
 	"testing"
 
 	"gamehall/api"
+	"gamehall/rules"
 	"gamehall/testkit"
 )
 
-// A kit that does not see all memory would let other tests pass that should fail.
+// A kit that does not see all memory, or has rules or positions of some kinds only, would let other tests pass that should fail.
 
 func TestSlices(t *testing.T) {
 	for _, l := range [][]int{nil, {}, {4}, {4, 5, 6}} {
@@ -73,5 +75,113 @@ func TestRuleNumbers(t *testing.T) {
 	slices.Sort(seen)
 	if want := []int{0, 0, 1, 1, 2, 2, 3, 4, 5, 6, 7, 8, 9, 10, 11, 12, 13, 14, 15, 16}; !slices.Equal(seen, want[2:]) {
 		t.Errorf("RuleNumbers: %v, want %v", seen, want[2:])
+	}
+}
+
+// ends returns functions that choose always the least number, or the greatest one, and one that chooses without a pattern.
+func ends(seed uint64) []func(n int) int {
+	return []func(n int) int{
+		func(int) int { return 0 },
+		func(n int) int { return n - 1 },
+		rand.New(rand.NewPCG(seed, 5)).IntN,
+	}
+}
+
+// TestAnyRules has only rules that are right, and all sizes, numbers of types, kinds of conditions and limits among them.
+func TestAnyRules(t *testing.T) {
+	seen := map[string]bool{}
+	for seed := range uint64(1000) {
+		for _, choose := range ends(seed) {
+			r := testkit.AnyRules(choose)
+			if err := rules.Check(r); err != api.OK {
+				t.Fatalf("AnyRules: %+v, for which Check has %d", r, err)
+			}
+			seen[fmt.Sprint("size ", r.Width, r.Height)] = true
+			seen[fmt.Sprint("types ", len(r.Pieces))] = true
+			seen[fmt.Sprint("flags ", r.Falls, r.Keeps)] = true
+			seen[fmt.Sprint("ends ", len(r.Ends))] = true
+			for _, e := range r.Ends {
+				seen[fmt.Sprint("end ", e.Kind, e.Loses)] = true
+			}
+			seen[fmt.Sprint("blocked ", r.Blocked)] = true
+			seen[fmt.Sprint("repeat ", r.Repeat)] = true
+		}
+	}
+	if want := 64 + 6 + 4 + 7 + 6 + 3 + 5; len(seen) != want {
+		t.Errorf("AnyRules has %d kinds of rules, want %d: %v", len(seen), want, seen)
+	}
+}
+
+// TestAnyPosition has numbers that are right, at their bounds and between them.
+func TestAnyPosition(t *testing.T) {
+	seen := map[string]bool{}
+	for seed := range uint64(1000) {
+		for _, choose := range ends(seed) {
+			r := testkit.AnyRules(choose)
+			p := testkit.AnyPosition(r, choose)
+			if len(p.Cells) != r.Width*r.Height || len(p.Hands[0]) != len(r.Pieces) || len(p.Hands[1]) != len(r.Pieces) {
+				t.Fatalf("AnyPosition: %+v for %+v", p, r)
+			}
+			note := func(what string, n, most int) {
+				if n < 0 || n > most {
+					t.Fatalf("AnyPosition: %s %d in %+v", what, n, p)
+				}
+				seen[fmt.Sprint(what, n == 0, n == most)] = true
+			}
+			for _, cell := range p.Cells {
+				note("cell", cell, 2*len(r.Pieces))
+			}
+			for player, hand := range p.Hands {
+				for _, n := range hand {
+					note(fmt.Sprint("hand", player), n, 1000)
+				}
+			}
+			note("turn", p.Turn, 1)
+			note("quiet", p.Quiet, 200)
+		}
+	}
+	if want := 3 + 3 + 3 + 2 + 3; len(seen) != want {
+		t.Errorf("AnyPosition has %d kinds of numbers, want %d: %v", len(seen), want, seen)
+	}
+}
+
+func TestPositions(t *testing.T) {
+	sample := func() api.Position {
+		return api.Position{Cells: []int{1, 2}, Hands: [2][]int{{3}, {4}}, Turn: 5, Quiet: 6}
+	}
+	p := sample()
+	roomy := testkit.RoomyPosition(p)
+	if fmt.Sprint(roomy) != fmt.Sprint(p) {
+		t.Errorf("RoomyPosition(%v): %v", p, roomy)
+	}
+	whole := testkit.WholePosition(roomy)
+	if len(whole.Cells) < 5 || len(whole.Hands[0]) < 4 || len(whole.Hands[1]) < 4 {
+		t.Errorf("WholePosition: %v", whole)
+	}
+	testkit.SpoilPosition(roomy)
+	if fmt.Sprint(p) != fmt.Sprint(sample()) {
+		t.Errorf("the result of RoomyPosition shares memory with the argument: %v", p)
+	}
+	is := func(n int) func(int) bool { return func(m int) bool { return m == n } }
+	if slices.ContainsFunc(whole.Cells, is(-88)) || slices.ContainsFunc(whole.Hands[0], is(-99)) || slices.ContainsFunc(whole.Hands[1], is(-99)) {
+		t.Errorf("the result of WholePosition shares memory with the argument: %v", whole)
+	}
+	spoiled := testkit.WholePosition(roomy)
+	if slices.ContainsFunc(spoiled.Cells, func(n int) bool { return n != -88 }) || !slices.Equal(spoiled.Hands[0], slices.Repeat([]int{-99}, len(spoiled.Hands[0]))) || !slices.Equal(spoiled.Hands[1], slices.Repeat([]int{-99}, len(spoiled.Hands[1]))) {
+		t.Errorf("after SpoilPosition: %v", spoiled)
+	}
+}
+
+// TestPositionNumbers has no two numbers at the same place.
+func TestPositionNumbers(t *testing.T) {
+	p := api.Position{Cells: []int{1, 2}, Hands: [2][]int{{3, 4}, {5, 6}}, Turn: 7, Quiet: 8}
+	var seen []int
+	for _, n := range testkit.PositionNumbers(&p) {
+		seen = append(seen, *n)
+		*n = -1
+	}
+	slices.Sort(seen)
+	if want := []int{1, 2, 3, 4, 5, 6, 7, 8}; !slices.Equal(seen, want) {
+		t.Errorf("PositionNumbers: %v, want %v", seen, want)
 	}
 }
