@@ -128,10 +128,10 @@ func TestP2Deterministic(t *testing.T) {
 		return fmt.Sprint(rules.Check(r), rules.Name(r.Name), m, first, second)
 	}
 	var before []string
-	for _, b := range boards() {
+	for _, b := range testkit.Boards() {
 		before = append(before, call(b[0], b[1]))
 	}
-	for i, b := range boards() {
+	for i, b := range testkit.Boards() {
 		if got := call(b[0], b[1]); got != before[i] {
 			t.Errorf("equal calls for a board of %d by %d: %s, then %s", b[0], b[1], before[i], got)
 		}

@@ -61,16 +61,6 @@ func full(w, h int, seed uint64) api.Rules {
 	return r
 }
 
-func boards() [][2]int {
-	var l [][2]int
-	for w := 1; w <= 8; w++ {
-		for h := 1; h <= 8; h++ {
-			l = append(l, [2]int{w, h})
-		}
-	}
-	return l
-}
-
 // equal compares all that rules say; a nil slice is an empty one.
 func equal(a, b api.Rules) bool {
 	return fmt.Sprintf("%+v", a) == fmt.Sprintf("%+v", b)
@@ -328,7 +318,7 @@ func TestP112CheckSizes(t *testing.T) {
 			}
 		}
 	}
-	for _, b := range boards() {
+	for _, b := range testkit.Boards() {
 		for _, n := range []int{0, b[0], b[1], b[0]*b[1] - 1, b[0]*b[1] + 1, 64, 65, 1 << 12} {
 			r, want := empty(b[0], b[1]), api.OK
 			r.Start = make([]int, n)
@@ -512,7 +502,7 @@ func TestP113LastWritten(t *testing.T) {
 
 // TestP113Last walks up and down in the column of a square: it is on a last row if there is no square beyond it.
 func TestP113Last(t *testing.T) {
-	for _, b := range boards() {
+	for _, b := range testkit.Boards() {
 		w, h := b[0], b[1]
 		for _, r := range []api.Rules{empty(w, h), full(w, h, 5)} {
 			for square := range w * h {
@@ -528,7 +518,7 @@ func TestP113Last(t *testing.T) {
 }
 
 func TestP113LastErrors(t *testing.T) {
-	for _, b := range boards() {
+	for _, b := range testkit.Boards() {
 		w, h := b[0], b[1]
 		r := empty(w, h)
 		for _, player := range extremes {
@@ -595,7 +585,7 @@ func slowMirror(r api.Rules) []int {
 }
 
 func TestP114Mirror(t *testing.T) {
-	for _, b := range boards() {
+	for _, b := range testkit.Boards() {
 		for seed := range uint64(6) {
 			r := full(b[0], b[1], seed)
 			m, err := rules.Mirror(r)

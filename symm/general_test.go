@@ -5,6 +5,7 @@ import (
 	"testing"
 
 	"gamehall/symm"
+	"gamehall/testkit"
 )
 
 // The general rules of the document, as far as they concern package symm.
@@ -36,7 +37,7 @@ func TestP1(t *testing.T) {
 }
 
 func TestP2ArgumentsStay(t *testing.T) {
-	for _, b := range boards() {
+	for _, b := range testkit.Boards() {
 		w, h := b[0], b[1]
 		for s := range slowCount(w, h) {
 			for _, n := range append(wrongLengths(w, h), w*h) {
@@ -61,7 +62,7 @@ func spoil(l []int) {
 
 // TestP2ResultsAreNew changes results, and looks whether arguments, or later results of equal calls, have changed with them.
 func TestP2ResultsAreNew(t *testing.T) {
-	for _, b := range boards() {
+	for _, b := range testkit.Boards() {
 		w, h := b[0], b[1]
 		for s := range slowCount(w, h) {
 			cells := scattered(w, h, s, 5)
@@ -120,10 +121,10 @@ func TestP2Deterministic(t *testing.T) {
 		return r
 	}
 	var before []results
-	for _, b := range boards() {
+	for _, b := range testkit.Boards() {
 		before = append(before, call(b[0], b[1]))
 	}
-	for i, b := range boards() {
+	for i, b := range testkit.Boards() {
 		x, y := before[i], call(b[0], b[1])
 		if x.numbers != y.numbers || !slices.EqualFunc(x.lists[:], y.lists[:], slices.Equal[[]int]) {
 			t.Errorf("equal calls for a board of %d by %d: %v, then %v", b[0], b[1], x, y)

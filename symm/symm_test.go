@@ -8,6 +8,7 @@ import (
 
 	"gamehall/api"
 	"gamehall/symm"
+	"gamehall/testkit"
 )
 
 // The tests hold package symm against boards that are written out, and against slow definitions that know nothing of bits, cycles or compositions.
@@ -17,17 +18,6 @@ var extremes = []int{math.MinInt, math.MinInt + 1, -64, -8, -4, -1, 0, 1, 2, 3, 
 
 // bad are widths and heights that no board has.
 var bad = []int{math.MinInt, -8, -1, 0, 9, 64, 1 << 32, math.MaxInt}
-
-// boards returns the sizes of all boards.
-func boards() [][2]int {
-	var l [][2]int
-	for w := 1; w <= 8; w++ {
-		for h := 1; h <= 8; h++ {
-			l = append(l, [2]int{w, h})
-		}
-	}
-	return l
-}
 
 // slowCount returns how many symmetries there are.
 func slowCount(w, h int) int {
@@ -117,7 +107,7 @@ func TestP105Check(t *testing.T) {
 }
 
 func TestP105All(t *testing.T) {
-	for _, b := range boards() {
+	for _, b := range testkit.Boards() {
 		want := []int{0, 1, 2, 3}
 		if b[0] == b[1] {
 			want = []int{0, 1, 2, 3, 4, 5, 6, 7}
@@ -165,7 +155,7 @@ func TestP105SizeFirst(t *testing.T) {
 
 // TestP105NoSymmetry gives the number of no symmetry together with all other errors but the size.
 func TestP105NoSymmetry(t *testing.T) {
-	for _, b := range boards() {
+	for _, b := range testkit.Boards() {
 		w, h := b[0], b[1]
 		for _, s := range extremes {
 			if 0 <= s && s < slowCount(w, h) {
@@ -228,7 +218,7 @@ func TestP106MapWritten(t *testing.T) {
 }
 
 func TestP106Map(t *testing.T) {
-	for _, b := range boards() {
+	for _, b := range testkit.Boards() {
 		w, h := b[0], b[1]
 		for s := range slowCount(w, h) {
 			for square, want := range slowMoves(w, h, s) {
@@ -241,7 +231,7 @@ func TestP106Map(t *testing.T) {
 }
 
 func TestP106MapNoSquare(t *testing.T) {
-	for _, b := range boards() {
+	for _, b := range testkit.Boards() {
 		w, h := b[0], b[1]
 		for s := range slowCount(w, h) {
 			for _, square := range append([]int{w * h, w*h + 1}, extremes...) {
@@ -271,7 +261,7 @@ func slowCompose(w, h, a, b int) int {
 }
 
 func TestP106Compose(t *testing.T) {
-	for _, b := range boards() {
+	for _, b := range testkit.Boards() {
 		w, h := b[0], b[1]
 		for first := range slowCount(w, h) {
 			for then := range slowCount(w, h) {
@@ -289,7 +279,7 @@ func TestP106Compose(t *testing.T) {
 }
 
 func TestP106Inverse(t *testing.T) {
-	for _, b := range boards() {
+	for _, b := range testkit.Boards() {
 		w, h := b[0], b[1]
 		want := []int{0, 1, 2, 3, 4, 6, 5, 7}[:slowCount(w, h)]
 		for s := range want {
@@ -308,7 +298,7 @@ func TestP106Inverse(t *testing.T) {
 }
 
 func TestP107Apply(t *testing.T) {
-	for _, b := range boards() {
+	for _, b := range testkit.Boards() {
 		w, h := b[0], b[1]
 		for s := range slowCount(w, h) {
 			for _, cells := range [][]int{numbered(w, h), make([]int, w*h), scattered(w, h, s, 13)} {
@@ -349,7 +339,7 @@ func wrongLengths(w, h int) []int {
 }
 
 func TestP107ApplyWrongCells(t *testing.T) {
-	for _, b := range boards() {
+	for _, b := range testkit.Boards() {
 		for s := range slowCount(b[0], b[1]) {
 			for _, n := range wrongLengths(b[0], b[1]) {
 				if got, err := symm.Apply(b[0], b[1], s, make([]int, n)); got != nil || err != api.ErrForm {
@@ -361,7 +351,7 @@ func TestP107ApplyWrongCells(t *testing.T) {
 }
 
 func TestP108Orbit(t *testing.T) {
-	for _, b := range boards() {
+	for _, b := range testkit.Boards() {
 		w, h := b[0], b[1]
 		for square := range w * h {
 			reached := map[int]bool{}
@@ -403,7 +393,7 @@ func TestP108OrbitWritten(t *testing.T) {
 }
 
 func TestP108OrbitNoSquare(t *testing.T) {
-	for _, b := range boards() {
+	for _, b := range testkit.Boards() {
 		w, h := b[0], b[1]
 		for _, square := range append([]int{w * h, w*h + 1}, extremes...) {
 			if 0 <= square && square < w*h {
@@ -435,7 +425,7 @@ func slowCanon(w, h int, cells []int) ([]int, int) {
 }
 
 func TestP109Canon(t *testing.T) {
-	for _, b := range boards() {
+	for _, b := range testkit.Boards() {
 		w, h := b[0], b[1]
 		for seed := range 40 {
 			// Few kinds of cells make the forms meet at their beginnings, and symmetries be alike.
@@ -451,7 +441,7 @@ func TestP109Canon(t *testing.T) {
 
 // TestP109CanonOfAllForms needs no other definition: all forms of cells have the same first one.
 func TestP109CanonOfAllForms(t *testing.T) {
-	for _, b := range boards() {
+	for _, b := range testkit.Boards() {
 		w, h := b[0], b[1]
 		for _, cells := range [][]int{numbered(w, h), scattered(w, h, 7, 3), make([]int, w*h)} {
 			want, _, _ := symm.Canon(w, h, cells)
@@ -500,7 +490,7 @@ func TestP109CanonWritten(t *testing.T) {
 }
 
 func TestP109CanonWrongCells(t *testing.T) {
-	for _, b := range boards() {
+	for _, b := range testkit.Boards() {
 		for _, n := range wrongLengths(b[0], b[1]) {
 			if got, s, err := symm.Canon(b[0], b[1], make([]int, n)); got != nil || s != 0 || err != api.ErrForm {
 				t.Errorf("Canon(%d, %d) of %d cells: %v, %d, %d, want nothing, 0, %d", b[0], b[1], n, got, s, err, api.ErrForm)
@@ -555,7 +545,7 @@ func slowColours(w, h, colours int) int {
 }
 
 func TestP110ColoursCounted(t *testing.T) {
-	for _, b := range boards() {
+	for _, b := range testkit.Boards() {
 		for colours := 1; colours <= 16; colours++ {
 			if math.Pow(float64(colours), float64(b[0]*b[1])) > 70000 {
 				break
@@ -594,7 +584,7 @@ func bigColours(w, h, colours int) (greatest, mean *big.Int) {
 
 func TestP110Colours(t *testing.T) {
 	limit := power(2, 48)
-	for _, b := range boards() {
+	for _, b := range testkit.Boards() {
 		w, h := b[0], b[1]
 		for colours := range 17 {
 			got, err := symm.Colours(w, h, colours)

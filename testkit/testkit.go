@@ -1,7 +1,8 @@
-// Package testkit has what the tests of several packages need: to see whether arguments and results share memory, and to have rules and positions of all kinds. The program itself does not use it.
+// Package testkit has what the tests of several packages need: to see whether arguments and results share memory, and to have boards, rules and positions of all kinds. The program itself does not use it.
 package testkit
 
 import (
+	"iter"
 	"slices"
 	"strconv"
 
@@ -73,6 +74,17 @@ func RuleNumbers(r *api.Rules) []*int {
 	}
 	for i := range r.Ends {
 		l = append(l, &r.Ends[i].Kind, &r.Ends[i].Piece, &r.Ends[i].Count)
+	}
+	return l
+}
+
+// Boards returns the widths and heights of all boards.
+func Boards() [][2]int {
+	var l [][2]int
+	for w := 1; w <= api.MaxSide; w++ {
+		for h := 1; h <= api.MaxSide; h++ {
+			l = append(l, [2]int{w, h})
+		}
 	}
 	return l
 }
@@ -178,4 +190,25 @@ func PositionNumbers(p *api.Position) []*int {
 		}
 	}
 	return l
+}
+
+// Changed returns an iterator over copies of rules and a position in which one number is one of the values, and over others in which all numbers are.
+func Changed(r api.Rules, p api.Position, values []int) iter.Seq2[api.Rules, api.Position] {
+	const all = -1
+	return func(yield func(api.Rules, api.Position) bool) {
+		spots := len(RuleNumbers(&r)) + len(PositionNumbers(&p))
+		for shift := range values {
+			for spot := all; spot < spots; spot++ {
+				changedRules, changedPosition := RoomyRules(r), RoomyPosition(p)
+				for i, n := range append(RuleNumbers(&changedRules), PositionNumbers(&changedPosition)...) {
+					if spot == all || spot == i {
+						*n = values[(shift+i)%len(values)]
+					}
+				}
+				if !yield(changedRules, changedPosition) {
+					return
+				}
+			}
+		}
+	}
 }

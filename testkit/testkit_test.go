@@ -78,6 +78,19 @@ func TestRuleNumbers(t *testing.T) {
 	}
 }
 
+func TestBoards(t *testing.T) {
+	seen := map[[2]int]bool{}
+	for _, b := range testkit.Boards() {
+		if b[0] < 1 || b[0] > 8 || b[1] < 1 || b[1] > 8 || seen[b] {
+			t.Errorf("Boards has %v, which is no board or comes twice", b)
+		}
+		seen[b] = true
+	}
+	if len(seen) != 64 {
+		t.Errorf("Boards has %d boards, want 64", len(seen))
+	}
+}
+
 // ends returns functions that choose always the least number, or the greatest one, and one that chooses without a pattern.
 func ends(seed uint64) []func(n int) int {
 	return []func(n int) int{
@@ -183,5 +196,51 @@ func TestPositionNumbers(t *testing.T) {
 	slices.Sort(seen)
 	if want := []int{1, 2, 3, 4, 5, 6, 7, 8}; !slices.Equal(seen, want) {
 		t.Errorf("PositionNumbers: %v, want %v", seen, want)
+	}
+}
+
+// TestChanged has each number with each value while the others are as before, and all numbers as often as there are values.
+func TestChanged(t *testing.T) {
+	r, p := sample(), api.Position{Cells: []int{17, 18}, Hands: [2][]int{{19}, {20}}, Turn: 21, Quiet: 22}
+	numbers := func(r api.Rules, p api.Position) []int {
+		var l []int
+		for _, n := range append(testkit.RuleNumbers(&r), testkit.PositionNumbers(&p)...) {
+			l = append(l, *n)
+		}
+		return l
+	}
+	before := numbers(r, p)
+	values := []int{-1, -2, -3}
+	seen, full := map[string]int{}, 0
+	for changedRules, changedPosition := range testkit.Changed(r, p, values) {
+		after := numbers(changedRules, changedPosition)
+		text, changed := "", 0
+		for i, n := range after {
+			if n != before[i] {
+				text, changed = fmt.Sprint(i, n), changed+1
+			}
+			if n != before[i] && !slices.Contains(values, n) {
+				t.Errorf("a number became %d", n)
+			}
+		}
+		switch changed {
+		case 1:
+			seen[text]++
+		case len(before):
+			full++
+		default:
+			t.Errorf("%d numbers of %d are changed", changed, len(before))
+		}
+		testkit.SpoilRules(changedRules)
+		testkit.SpoilPosition(changedPosition)
+	}
+	if want := 3 * len(before); len(seen) != want || full != 3 {
+		t.Errorf("one number is changed in %d ways, want %d, and all %d times, want 3", len(seen), want, full)
+	}
+	if after := numbers(r, p); !slices.Equal(after, before) {
+		t.Errorf("the arguments became %v, want %v", after, before)
+	}
+	for range testkit.Changed(r, p, values) {
+		break // an iterator that goes on here panics
 	}
 }
