@@ -66,7 +66,7 @@ func TestP1Moves(t *testing.T) {
 			r := board(w, h, piece('A', slide(7, -7, 7), slide(-7, 7, 7), slide(7, 7, 7), slide(-7, -7, 7), slide(0, 7, 7), slide(7, 0, 7)))
 			for cell := range 3 {
 				p := api.Position{Cells: slices.Repeat([]int{cell}, w*h), Hands: [2][]int{{1000}, {1000}}, Turn: w % 2}
-				callAll(r, p, candidates(r)...)
+				callAll(r, p, testkit.Candidates(r)...)
 			}
 		}
 	}

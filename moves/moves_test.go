@@ -100,31 +100,13 @@ func sample() pair {
 
 const sampleMoves = "@2P @2N @3P @3N @10P @10N 0-3P 0-4P 1-2K 7-10K 7-11K"
 
-// anyPair returns rules and a position of all kinds. In about half of them the steps are short, so that most of them stay on the board, and in some the position is as quiet as can be.
-func anyPair(choose func(n int) int) pair {
-	r := testkit.AnyRules(choose)
-	if choose(2) == 0 {
-		short := []api.RuleWay{{DX: 1}, {DX: -1}, {DY: 1}, {DY: -1}, {DX: 1, DY: 1}, {DX: -1, DY: 1}, {DX: 1, DY: -1}, {DX: -1, DY: -1}, {DX: 2, DY: 1}, {DX: -1, DY: 2}, {DX: -2}, {DY: 2}}
-		for _, p := range r.Pieces {
-			for i := range p.Ways {
-				s := short[choose(len(short))]
-				p.Ways[i].DX, p.Ways[i].DY = s.DX, s.DY
-			}
-		}
-	}
-	p := testkit.AnyPosition(r, choose)
-	if choose(4) == 0 {
-		p.Quiet = api.MaxQuiet - choose(3)
-	}
-	return pair{r, p}
-}
-
 // all returns the sample and so many positions of all kinds, the same for each call.
 func all(n int) []pair {
 	l := []pair{sample()}
 	random := rand.New(rand.NewPCG(6, 123))
 	for range n {
-		l = append(l, anyPair(random.IntN))
+		r, p := testkit.AnyGame(random.IntN)
+		l = append(l, pair{r, p})
 	}
 	return l
 }
@@ -509,19 +491,6 @@ func TestP123Chess(t *testing.T) {
 	}
 }
 
-// candidates returns all moves with squares of a board and types of its pieces, in the order of P124.
-func candidates(r api.Rules) []api.Move {
-	var l []api.Move
-	for from := -1; from < r.Width*r.Height; from++ {
-		for to := range r.Width * r.Height {
-			for kind := range r.Pieces {
-				l = append(l, api.Move{From: from, To: to, Piece: kind})
-			}
-		}
-	}
-	return l
-}
-
 // A point is a square by its column and row.
 type point struct{ x, y int }
 
@@ -617,7 +586,7 @@ func TestP123Slow(t *testing.T) {
 	for _, c := range all(1000) {
 		var want []api.Move
 		definition := newSlow(c)
-		for _, m := range candidates(c.r) {
+		for _, m := range testkit.Candidates(c.r) {
 			is := definition.isLegal(m)
 			if got, err := moves.Legal(c.r, c.p, m); got != is || err != api.OK {
 				t.Fatalf("Legal(%+v, %+v, %v): %t, %d, want %t", c.r, c.p, m, got, err, is)
@@ -698,15 +667,7 @@ func TestP124Order(t *testing.T) {
 
 // strange returns moves that are far from all boards and types.
 func strange() []api.Move {
-	var l []api.Move
-	for _, from := range extremes {
-		for _, to := range extremes {
-			for _, kind := range extremes {
-				l = append(l, api.Move{From: from, To: to, Piece: kind})
-			}
-		}
-	}
-	return l
+	return testkit.MovesOf(extremes)
 }
 
 // TestP124Strange has moves with squares and types that the game does not have.
@@ -862,7 +823,7 @@ func TestP125Slow(t *testing.T) {
 func TestP125NotLegal(t *testing.T) {
 	for _, c := range all(100) {
 		l, _ := moves.All(c.r, c.p)
-		for _, m := range candidates(c.r) {
+		for _, m := range testkit.Candidates(c.r) {
 			q, err := moves.After(c.r, c.p, m)
 			if is := slices.Contains(l, m); is != (err == api.OK) || !is && (err != api.ErrMove || !equal(q, api.Position{})) {
 				t.Fatalf("After(%+v, %+v, %v): %+v, %d, for a move that is legal: %t", c.r, c.p, m, q, err, is)
@@ -890,7 +851,7 @@ func TestP125Games(t *testing.T) {
 	}
 	plies := 0
 	for range 200 {
-		r := anyPair(random.IntN).r
+		r, _ := testkit.AnyGame(random.IntN)
 		p, _ := place.Begin(r)
 		pieces := count(p)
 		for range 60 {

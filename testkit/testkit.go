@@ -1,4 +1,4 @@
-// Package testkit has what the tests of several packages need: to see whether arguments and results share memory, and to have boards, rules and positions of all kinds. The program itself does not use it.
+// Package testkit has what the tests of several packages need: to see whether arguments and results share memory, and to have boards, rules, positions and moves of all kinds. The program itself does not use it.
 package testkit
 
 import (
@@ -150,6 +150,51 @@ func AnyPosition(r api.Rules, choose func(n int) int) api.Position {
 		}
 	}
 	return p
+}
+
+// AnyGame returns rules and a position of their game, chosen as by AnyRules and AnyPosition. In about half of them the steps are short, so that most of them stay on the board, and in some the position is as quiet as can be.
+func AnyGame(choose func(n int) int) (api.Rules, api.Position) {
+	r := AnyRules(choose)
+	if choose(2) == 0 {
+		short := []api.RuleWay{{DX: 1}, {DX: -1}, {DY: 1}, {DY: -1}, {DX: 1, DY: 1}, {DX: -1, DY: 1}, {DX: 1, DY: -1}, {DX: -1, DY: -1}, {DX: 2, DY: 1}, {DX: -1, DY: 2}, {DX: -2}, {DY: 2}}
+		for _, p := range r.Pieces {
+			for i := range p.Ways {
+				s := short[choose(len(short))]
+				p.Ways[i].DX, p.Ways[i].DY = s.DX, s.DY
+			}
+		}
+	}
+	p := AnyPosition(r, choose)
+	if choose(4) == 0 {
+		p.Quiet = api.MaxQuiet - choose(3)
+	}
+	return r, p
+}
+
+// Candidates returns all moves with squares of a board and types of its pieces, legal or not, ordered by From, then by To, then by Piece.
+func Candidates(r api.Rules) []api.Move {
+	var l []api.Move
+	for from := -1; from < r.Width*r.Height; from++ {
+		for to := range r.Width * r.Height {
+			for kind := range r.Pieces {
+				l = append(l, api.Move{From: from, To: to, Piece: kind})
+			}
+		}
+	}
+	return l
+}
+
+// MovesOf returns all moves whose numbers are among the values.
+func MovesOf(values []int) []api.Move {
+	var l []api.Move
+	for _, from := range values {
+		for _, to := range values {
+			for _, kind := range values {
+				l = append(l, api.Move{From: from, To: to, Piece: kind})
+			}
+		}
+	}
+	return l
 }
 
 // RoomyPosition returns a copy of a position whose slices have unused capacity.

@@ -7,6 +7,8 @@ import (
 	"testing"
 
 	"gamehall/api"
+	"gamehall/moves"
+	"gamehall/place"
 	"gamehall/rules"
 	"gamehall/testkit"
 )
@@ -155,6 +157,69 @@ func TestAnyPosition(t *testing.T) {
 	}
 	if want := 3 + 3 + 3 + 2 + 3; len(seen) != want {
 		t.Errorf("AnyPosition has %d kinds of numbers, want %d: %v", len(seen), want, seen)
+	}
+}
+
+// TestAnyGame has rules and positions that are right, short and long steps among them, and positions that are as quiet as can be.
+func TestAnyGame(t *testing.T) {
+	seen := map[string]bool{}
+	for seed := range uint64(1000) {
+		for _, choose := range ends(seed) {
+			r, p := testkit.AnyGame(choose)
+			if err := place.Check(r, p); err != api.OK {
+				t.Fatalf("AnyGame: %+v, %+v, for which Check has %d", r, p, err)
+			}
+			for _, piece := range r.Pieces {
+				for _, w := range piece.Ways {
+					seen[fmt.Sprint("step ", max(w.DX, -w.DX, w.DY, -w.DY) <= 2)] = true
+					seen[fmt.Sprint("take ", w.Take)] = true
+				}
+			}
+			seen[fmt.Sprint("quiet ", max(p.Quiet, api.MaxQuiet-3))] = true
+			seen[fmt.Sprint("turn ", p.Turn)] = true
+			l, _ := moves.All(r, p)
+			seen[fmt.Sprint("moves ", len(l) > 0)] = true
+		}
+	}
+	if want := 2 + 3 + 4 + 2 + 2; len(seen) != want {
+		t.Errorf("AnyGame has %d kinds of games, want %d: %v", len(seen), want, seen)
+	}
+}
+
+// TestCandidates has all legal moves among the candidates, which are in order and different.
+func TestCandidates(t *testing.T) {
+	choose := rand.New(rand.NewPCG(3, 5)).IntN
+	for range 200 {
+		r, p := testkit.AnyGame(choose)
+		l := testkit.Candidates(r)
+		squares := r.Width * r.Height
+		if want := (squares + 1) * squares * len(r.Pieces); len(l) != want {
+			t.Errorf("Candidates(%+v): %d moves, want %d", r, len(l), want)
+		}
+		isBefore := func(a, b api.Move) bool {
+			return a.From < b.From || a.From == b.From && (a.To < b.To || a.To == b.To && a.Piece < b.Piece)
+		}
+		for i, m := range l[1:] {
+			if !isBefore(l[i], m) {
+				t.Fatalf("Candidates(%+v): %v before %v", r, l[i], m)
+			}
+		}
+		legal, _ := moves.All(r, p)
+		for _, m := range legal {
+			if !slices.Contains(l, m) {
+				t.Errorf("Candidates(%+v) leaves out %v", r, m)
+			}
+		}
+	}
+}
+
+func TestMovesOf(t *testing.T) {
+	want := []api.Move{{From: -1, To: -1, Piece: -1}, {From: -1, To: -1, Piece: 5}, {From: -1, To: 5, Piece: -1}, {From: -1, To: 5, Piece: 5}, {From: 5, To: -1, Piece: -1}, {From: 5, To: -1, Piece: 5}, {From: 5, To: 5, Piece: -1}, {From: 5, To: 5, Piece: 5}}
+	if got := testkit.MovesOf([]int{-1, 5}); !slices.Equal(got, want) {
+		t.Errorf("MovesOf: %v, want %v", got, want)
+	}
+	if got := testkit.MovesOf(nil); len(got) != 0 {
+		t.Errorf("MovesOf no values: %v", got)
 	}
 }
 
