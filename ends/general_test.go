@@ -39,20 +39,9 @@ func TestP1Bounds(t *testing.T) {
 }
 
 func TestP1Lists(t *testing.T) {
-	for _, n := range []int{0, 1, 2, 3, 11, 13, 64, 65, 1 << 12, 1 << 16} {
-		for _, list := range []func(c *pair){
-			func(c *pair) { c.p.Cells = make([]int, n) },
-			func(c *pair) { c.p.Hands[0] = make([]int, n) },
-			func(c *pair) { c.p.Hands[1] = make([]int, n) },
-			func(c *pair) { c.r.Start = make([]int, n) },
-			func(c *pair) { c.r.Pieces = make([]api.RulePiece, n) },
-			func(c *pair) { c.r.Pieces[0].Ways = slices.Repeat([]api.RuleWay{{DX: 1, Most: 1}}, n) },
-			func(c *pair) { c.r.Ends = slices.Repeat([]api.RuleEnd{line(64)}, n) },
-		} {
-			c := sample()
-			list(&c)
-			ends.Of(c.r, c.p)
-		}
+	c := sample()
+	for r, p := range testkit.Stretched(c.r, c.p) {
+		ends.Of(r, p)
 	}
 }
 

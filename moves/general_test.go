@@ -73,20 +73,9 @@ func TestP1Moves(t *testing.T) {
 }
 
 func TestP1Lists(t *testing.T) {
-	for _, n := range []int{0, 1, 2, 3, 11, 13, 64, 65, 1 << 12, 1 << 16} {
-		for _, list := range []func(c *pair){
-			func(c *pair) { c.p.Cells = make([]int, n) },
-			func(c *pair) { c.p.Hands[0] = make([]int, n) },
-			func(c *pair) { c.p.Hands[1] = make([]int, n) },
-			func(c *pair) { c.r.Start = make([]int, n) },
-			func(c *pair) { c.r.Pieces = make([]api.RulePiece, n) },
-			func(c *pair) { c.r.Pieces[0].Ways = slices.Repeat([]api.RuleWay{step(1, 0)}, n) },
-			func(c *pair) { c.r.Ends = make([]api.RuleEnd, n) },
-		} {
-			c := sample()
-			list(&c)
-			callAll(c.r, c.p, tried()...)
-		}
+	c := sample()
+	for r, p := range testkit.Stretched(c.r, c.p) {
+		callAll(r, p, tried()...)
 	}
 }
 

@@ -22,6 +22,7 @@ func callAll(r api.Rules, p, q api.Position, s string) {
 	place.Other(r, p)
 	place.Text(r, p)
 	place.Read(r, s)
+	place.Clone(r, p)
 }
 
 // TestP1Numbers needs no conditions: a panic, or a call without an end, fails it.
@@ -130,7 +131,8 @@ func results(r api.Rules, p api.Position, s string) []api.Position {
 	begin, _ := place.Begin(r)
 	other, _ := place.Other(r, p)
 	read, _ := place.Read(r, s)
-	return []api.Position{begin, other, read}
+	cloned, _ := place.Clone(r, p)
+	return []api.Position{begin, other, read, cloned}
 }
 
 // TestP2ResultsAreNew changes results, and looks whether the arguments, or results of equal calls, have changed with them.

@@ -153,6 +153,9 @@ func TestP118WrongRules(t *testing.T) {
 			if s, err := place.Text(r, p); s != "" || err != want {
 				t.Errorf("Text(%+v, %v): %q, %d, want nothing, %d", r, p, s, err, want)
 			}
+			if q, err := place.Clone(r, p); !equal(q, api.Position{}) || err != want {
+				t.Errorf("Clone(%+v, %v): %v, %d, want nothing, %d", r, p, q, err, want)
+			}
 		}
 		for _, s := range []string{middleText, "", "?", strings.Repeat("3", 8193)} {
 			if p, err := place.Read(r, s); !equal(p, api.Position{}) || err != want {
@@ -209,6 +212,13 @@ func try(t *testing.T, what string, r api.Rules, p api.Position, want api.Errno)
 	}
 	if s, err := place.Text(r, p); err != want || err != api.OK && s != "" {
 		t.Errorf("%s: Text: %q, %d, want %d", what, s, err, want)
+	}
+	same := p
+	if want != api.OK {
+		same = api.Position{}
+	}
+	if q, err := place.Clone(r, p); err != want || !equal(q, same) {
+		t.Errorf("%s: Clone: %v, %d, want %v, %d", what, q, err, same, want)
 	}
 }
 
@@ -809,5 +819,14 @@ func TestP122Rows(t *testing.T) {
 	}
 	if seen[api.OK] < 2000 || seen[api.ErrSyntax] < 2000 {
 		t.Errorf("the errors came up so often: %v", seen)
+	}
+}
+
+// TestClone has the function that no chapter lists.
+func TestClone(t *testing.T) {
+	for _, c := range all() {
+		if got, err := place.Clone(c.r, c.p); !equal(got, c.p) || err != api.OK {
+			t.Errorf("Clone(%+v, %+v): %+v, %d", c.r, c.p, got, err)
+		}
 	}
 }

@@ -17,6 +17,7 @@ import (
 func callAll(r api.Rules) {
 	rules.Check(r)
 	rules.Mirror(r)
+	rules.Clone(r)
 	for _, n := range []int{-1, 0, 1, 1 << 32} {
 		rules.Last(r, n, n)
 		rules.Last(r, 1, n)
@@ -69,37 +70,46 @@ func TestP2ArgumentsStay(t *testing.T) {
 	}
 }
 
-// TestP2ResultsAreNew changes a result, and looks whether the argument, or results of equal calls, have changed with it.
+// results returns the rules that the functions have for equal arguments.
+func results(r api.Rules) []api.Rules {
+	mirrored, _ := rules.Mirror(r)
+	cloned, _ := rules.Clone(r)
+	return []api.Rules{mirrored, cloned}
+}
+
+// TestP2ResultsAreNew changes results, and looks whether the argument, or results of other calls, have changed with them.
 func TestP2ResultsAreNew(t *testing.T) {
 	r := testkit.RoomyRules(sample())
 	before := fmt.Sprint(testkit.WholeRules(r))
-	spoiled, _ := rules.Mirror(r)
-	kept, _ := rules.Mirror(r)
+	spoiled, kept := results(r), results(r)
 	want := fmt.Sprint(spoiled)
-	testkit.SpoilRules(spoiled)
+	for _, m := range spoiled {
+		testkit.SpoilRules(m)
+	}
 	if after := fmt.Sprint(testkit.WholeRules(r)); after != before {
-		t.Errorf("after a change of the result the argument is %s, want %s", after, before)
+		t.Errorf("after a change of the results the argument is %s, want %s", after, before)
 	}
 	if got := fmt.Sprint(kept); got != want {
-		t.Errorf("after a change of the result that of another call is %s, want %s", got, want)
+		t.Errorf("after a change of the results those of other calls are %s, want %s", got, want)
 	}
-	if again, err := rules.Mirror(r); fmt.Sprint(again) != want || err != api.OK {
-		t.Errorf("after a change of the result an equal call has %v, %d, want %s", again, err, want)
+	if again := fmt.Sprint(results(r)); again != want {
+		t.Errorf("after a change of the results equal calls have %s, want %s", again, want)
 	}
 }
 
-// TestP2ArgumentsAreNotRetained changes the argument after the call.
+// TestP2ArgumentsAreNotRetained changes the argument after the calls.
 func TestP2ArgumentsAreNotRetained(t *testing.T) {
 	r := testkit.RoomyRules(sample())
-	m, _ := rules.Mirror(r)
-	want, _ := rules.Mirror(sample())
+	got := results(r)
 	testkit.SpoilRules(r)
-	if !equal(m, want) {
-		t.Errorf("after a change of the argument: %+v, want %+v", m, want)
+	for i, want := range results(sample()) {
+		if !equal(got[i], want) {
+			t.Errorf("after a change of the argument: %+v, want %+v", got[i], want)
+		}
 	}
 }
 
-// TestP2ResultsAreApart has an argument whose types share their ways: those of the result do not.
+// TestP2ResultsAreApart has an argument whose types share their ways: those of the results do not.
 func TestP2ResultsAreApart(t *testing.T) {
 	r := sample()
 	way := api.RuleWay{DX: 1, DY: 1, Most: 1}
@@ -107,12 +117,13 @@ func TestP2ResultsAreApart(t *testing.T) {
 	for i := range r.Pieces {
 		r.Pieces[i].Ways = shared[:1+i%2]
 	}
-	m, _ := rules.Mirror(r)
-	for i := range m.Pieces {
-		testkit.Spoil(m.Pieces[i].Ways, api.RuleWay{})
-		for j := i + 1; j < len(m.Pieces); j++ {
-			if slices.ContainsFunc(m.Pieces[j].Ways, func(w api.RuleWay) bool { return w != way }) {
-				t.Errorf("the types %d and %d of the result share memory", i, j)
+	for _, m := range results(r) {
+		for i := range m.Pieces {
+			testkit.Spoil(m.Pieces[i].Ways, api.RuleWay{})
+			for j := i + 1; j < len(m.Pieces); j++ {
+				if slices.ContainsFunc(m.Pieces[j].Ways, func(w api.RuleWay) bool { return w != way }) {
+					t.Errorf("the types %d and %d of the result share memory", i, j)
+				}
 			}
 		}
 	}
@@ -122,10 +133,9 @@ func TestP2ResultsAreApart(t *testing.T) {
 func TestP2Deterministic(t *testing.T) {
 	call := func(w, h int) string {
 		r := full(w, h, uint64(w+h))
-		m, _ := rules.Mirror(r)
 		first, _ := rules.Last(r, api.First, w-1)
 		second, _ := rules.Last(r, api.Second, w-1)
-		return fmt.Sprint(rules.Check(r), rules.Name(r.Name), m, first, second)
+		return fmt.Sprint(rules.Check(r), rules.Name(r.Name), results(r), first, second)
 	}
 	var before []string
 	for _, b := range testkit.Boards() {

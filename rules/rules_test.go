@@ -462,6 +462,9 @@ func TestP112OthersReturnItFirst(t *testing.T) {
 		if m, err := rules.Mirror(r); !equal(m, api.Rules{}) || err != c.want {
 			t.Errorf("%s: Mirror: %+v, %d, want nothing, %d", c.what, m, err, c.want)
 		}
+		if m, err := rules.Clone(r); !equal(m, api.Rules{}) || err != c.want {
+			t.Errorf("%s: Clone: %+v, %d, want nothing, %d", c.what, m, err, c.want)
+		}
 	}
 }
 
@@ -619,6 +622,20 @@ func TestP114OnlyStartChanges(t *testing.T) {
 			if !equal(m, r) {
 				t.Errorf("Mirror(%+v) has %+v", r, m)
 			}
+		}
+	}
+}
+
+// TestClone has the function that no chapter lists.
+func TestClone(t *testing.T) {
+	l := []api.Rules{sample(), empty(8, 8), full(3, 3, 2)}
+	random := rand.New(rand.NewPCG(3, 2))
+	for range 300 {
+		l = append(l, testkit.AnyRules(random.IntN))
+	}
+	for _, r := range l {
+		if got, err := rules.Clone(r); !equal(got, r) || err != api.OK {
+			t.Errorf("Clone(%+v): %+v, %d", r, got, err)
 		}
 	}
 }

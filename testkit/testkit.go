@@ -257,3 +257,98 @@ func Changed(r api.Rules, p api.Position, values []int) iter.Seq2[api.Rules, api
 		}
 	}
 }
+
+// Stretched returns an iterator over copies of rules and a position in which one list has another length, up to one far beyond all limits. The rules must have a type at least.
+func Stretched(r api.Rules, p api.Position) iter.Seq2[api.Rules, api.Position] {
+	return func(yield func(api.Rules, api.Position) bool) {
+		for _, n := range []int{0, 1, 2, 3, 11, 13, 64, 65, 1 << 12, 1 << 16} {
+			for _, stretch := range []func(r *api.Rules, p *api.Position){
+				func(r *api.Rules, p *api.Position) { p.Cells = make([]int, n) },
+				func(r *api.Rules, p *api.Position) { p.Hands[api.First] = make([]int, n) },
+				func(r *api.Rules, p *api.Position) { p.Hands[api.Second] = make([]int, n) },
+				func(r *api.Rules, p *api.Position) { r.Start = make([]int, n) },
+				func(r *api.Rules, p *api.Position) { r.Pieces = make([]api.RulePiece, n) },
+				func(r *api.Rules, p *api.Position) { r.Pieces[0].Ways = slices.Repeat(r.Pieces[0].Ways, n) },
+				func(r *api.Rules, p *api.Position) { r.Ends = slices.Repeat(r.Ends, n) },
+			} {
+				stretchedRules, stretchedPosition := RoomyRules(r), RoomyPosition(p)
+				stretch(&stretchedRules, &stretchedPosition)
+				if !yield(stretchedRules, stretchedPosition) {
+					return
+				}
+			}
+		}
+	}
+}
+
+// A Wrong is rules and a position of which one is wrong, or both are, and the error that a check of both has.
+type Wrong struct {
+	Rules    api.Rules
+	Position api.Position
+	Err      api.Errno
+}
+
+// Wrongs returns rules and positions that are wrong in many ways, made from rules with two types and a condition at least and a position of their game.
+func Wrongs(r api.Rules, p api.Position) []Wrong {
+	var l []Wrong
+	for _, ofPosition := range wrongPositions(r, p) {
+		l = append(l, Wrong{RoomyRules(r), ofPosition.Position, ofPosition.Err})
+	}
+	for _, ofRules := range wrongRules(r, p) {
+		l = append(l, ofRules)
+		// The error of the rules comes first.
+		for _, ofPosition := range wrongPositions(r, p) {
+			l = append(l, Wrong{RoomyRules(ofRules.Rules), ofPosition.Position, ofRules.Err})
+		}
+	}
+	return l
+}
+
+// wrongRules returns rules that are wrong in one way each, with the position as it is.
+func wrongRules(r api.Rules, p api.Position) []Wrong {
+	var l []Wrong
+	add := func(err api.Errno, change func(r *api.Rules)) {
+		w := Wrong{RoomyRules(r), RoomyPosition(p), err}
+		change(&w.Rules)
+		l = append(l, w)
+	}
+	add(api.ErrName, func(r *api.Rules) { *r = api.Rules{} })
+	add(api.ErrName, func(r *api.Rules) { r.Name = "a" })
+	add(api.ErrName, func(r *api.Rules) { r.Pieces[1].Letter = 'n' })
+	add(api.ErrRange, func(r *api.Rules) { r.Height = api.MaxSide + 1 })
+	add(api.ErrNone, func(r *api.Rules) { r.Pieces = nil })
+	add(api.ErrLarge, func(r *api.Rules) { r.Pieces = slices.Repeat(r.Pieces, api.MaxTypes) })
+	add(api.ErrTwice, func(r *api.Rules) { r.Pieces[1].Letter = r.Pieces[0].Letter })
+	add(api.ErrForm, func(r *api.Rules) { r.Start = nil })
+	add(api.ErrLarge, func(r *api.Rules) { r.Ends = slices.Repeat(r.Ends, api.MaxEnds+1) })
+	add(api.ErrArg, func(r *api.Rules) { r.Ends[0].Kind = api.EndTake + 1 })
+	add(api.ErrRange, func(r *api.Rules) { r.Repeat = 1 })
+	return l
+}
+
+// wrongPositions returns positions that are wrong in one way each, with the rules as they are.
+func wrongPositions(r api.Rules, p api.Position) []Wrong {
+	var l []Wrong
+	add := func(err api.Errno, change func(p *api.Position)) {
+		w := Wrong{RoomyRules(r), RoomyPosition(p), err}
+		change(&w.Position)
+		l = append(l, w)
+	}
+	types := len(r.Pieces)
+	add(api.ErrForm, func(p *api.Position) { *p = api.Position{} })
+	add(api.ErrForm, func(p *api.Position) { p.Cells = nil })
+	add(api.ErrForm, func(p *api.Position) { p.Cells = p.Cells[1:] })
+	add(api.ErrForm, func(p *api.Position) { p.Cells = append(p.Cells, 0) })
+	add(api.ErrForm, func(p *api.Position) { p.Hands[api.First] = nil })
+	add(api.ErrForm, func(p *api.Position) { p.Hands[api.Second] = p.Hands[api.Second][1:] })
+	add(api.ErrForm, func(p *api.Position) { p.Hands[api.First] = append(p.Hands[api.First], 0) })
+	add(api.ErrForm, func(p *api.Position) { p.Turn, p.Hands[api.Second] = 2, nil })
+	add(api.ErrRange, func(p *api.Position) { p.Cells[0] = 2*types + 1 })
+	add(api.ErrRange, func(p *api.Position) { p.Cells[len(p.Cells)-1] = -1 })
+	add(api.ErrRange, func(p *api.Position) { p.Hands[api.First][types-1] = api.MaxHeld + 1 })
+	add(api.ErrRange, func(p *api.Position) { p.Hands[api.Second][0] = -1 })
+	add(api.ErrRange, func(p *api.Position) { p.Turn = -1 })
+	add(api.ErrRange, func(p *api.Position) { p.Turn = 2 })
+	add(api.ErrRange, func(p *api.Position) { p.Quiet = api.MaxQuiet + 1 })
+	return l
+}

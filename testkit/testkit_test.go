@@ -309,3 +309,65 @@ func TestChanged(t *testing.T) {
 		break // an iterator that goes on here panics
 	}
 }
+
+// right returns rules with two types and a condition, and a position of their game.
+func right() (api.Rules, api.Position) {
+	r := api.Rules{
+		Name: "A", Width: 1, Height: 2,
+		Pieces: []api.RulePiece{{Letter: 'A', Ways: []api.RuleWay{{DX: 1, Most: 1}}}, {Letter: 'B'}},
+		Start:  []int{0, 1},
+		Ends:   []api.RuleEnd{{Kind: api.EndReach}},
+	}
+	return r, api.Position{Cells: []int{1, 4}, Hands: [2][]int{{2, 3}, {4, 5}}, Turn: 1, Quiet: 6}
+}
+
+// TestStretched has each list of rules and a position without elements, and with more than all limits permit.
+func TestStretched(t *testing.T) {
+	r, p := right()
+	before := fmt.Sprint(r, p)
+	seen := map[string]bool{}
+	for stretchedRules, stretchedPosition := range testkit.Stretched(r, p) {
+		lists := []int{len(stretchedPosition.Cells), len(stretchedPosition.Hands[0]), len(stretchedPosition.Hands[1]), len(stretchedRules.Start), len(stretchedRules.Pieces), len(stretchedRules.Ends)}
+		if len(stretchedRules.Pieces) == len(r.Pieces) {
+			lists = append(lists, len(stretchedRules.Pieces[0].Ways))
+		}
+		for i, n := range lists {
+			if n == 0 || n == 1<<16 {
+				seen[fmt.Sprint(i, n)] = true
+			}
+		}
+		testkit.SpoilRules(stretchedRules)
+		testkit.SpoilPosition(stretchedPosition)
+	}
+	if len(seen) != 2*7 {
+		t.Errorf("the lists are without elements, or long, in %d ways, want 14: %v", len(seen), seen)
+	}
+	if after := fmt.Sprint(r, p); after != before {
+		t.Errorf("the arguments became %s, want %s", after, before)
+	}
+	for range testkit.Stretched(r, p) {
+		break // an iterator that goes on here panics
+	}
+}
+
+// TestWrongs has all errors that rules and positions have, each of them where it is.
+func TestWrongs(t *testing.T) {
+	r, p := right()
+	before := fmt.Sprint(r, p)
+	seen := map[string]bool{}
+	for _, w := range testkit.Wrongs(r, p) {
+		if err := place.Check(w.Rules, w.Position); err != w.Err || err == api.OK {
+			t.Errorf("Wrongs has %+v, for which Check has %d", w, err)
+		}
+		seen[fmt.Sprint(rules.Check(w.Rules) == api.OK, place.Check(r, w.Position), w.Err)] = true
+		testkit.SpoilRules(w.Rules)
+		testkit.SpoilPosition(w.Position)
+	}
+	// Wrong positions, and wrong rules with and without them.
+	if want := 2 + 7*3; len(seen) != want {
+		t.Errorf("Wrongs has %d kinds of errors, want %d: %v", len(seen), want, seen)
+	}
+	if after := fmt.Sprint(r, p); after != before {
+		t.Errorf("the arguments became %s, want %s", after, before)
+	}
+}

@@ -58,20 +58,9 @@ func TestP1Moves(t *testing.T) {
 }
 
 func TestP1Lists(t *testing.T) {
-	for _, n := range []int{0, 1, 2, 3, 11, 13, 64, 65, 1 << 12, 1 << 16} {
-		for _, list := range []func(r *api.Rules, p *api.Position){
-			func(r *api.Rules, p *api.Position) { p.Cells = make([]int, n) },
-			func(r *api.Rules, p *api.Position) { p.Hands[0] = make([]int, n) },
-			func(r *api.Rules, p *api.Position) { p.Hands[1] = make([]int, n) },
-			func(r *api.Rules, p *api.Position) { r.Start = make([]int, n) },
-			func(r *api.Rules, p *api.Position) { r.Pieces = make([]api.RulePiece, n) },
-			func(r *api.Rules, p *api.Position) { r.Pieces[0].Ways = slices.Repeat(r.Pieces[0].Ways, n) },
-			func(r *api.Rules, p *api.Position) { r.Ends = slices.Repeat(r.Ends, n) },
-		} {
-			r, p := sample()
-			list(&r, &p)
-			callAll(r, p, tried()...)
-		}
+	sampleRules, samplePosition := sample()
+	for r, p := range testkit.Stretched(sampleRules, samplePosition) {
+		callAll(r, p, tried()...)
 	}
 }
 

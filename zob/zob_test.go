@@ -197,59 +197,11 @@ func TestP118Numbers(t *testing.T) {
 	}
 }
 
-// TestP118Rules has wrong rules with positions that are right, and wrong.
-func TestP118Rules(t *testing.T) {
-	for _, c := range []struct {
-		change func(r *api.Rules)
-		want   api.Errno
-	}{
-		{func(r *api.Rules) { *r = api.Rules{} }, api.ErrName},
-		{func(r *api.Rules) { r.Name = "a" }, api.ErrName},
-		{func(r *api.Rules) { r.Pieces[1].Letter = 'n' }, api.ErrName},
-		{func(r *api.Rules) { r.Height = 9 }, api.ErrRange},
-		{func(r *api.Rules) { r.Pieces = nil }, api.ErrNone},
-		{func(r *api.Rules) { r.Pieces = slices.Repeat(r.Pieces, 3) }, api.ErrLarge},
-		{func(r *api.Rules) { r.Pieces[2].Letter = 'P' }, api.ErrTwice},
-		{func(r *api.Rules) { r.Start = nil }, api.ErrForm},
-		{func(r *api.Rules) { r.Ends = slices.Repeat(r.Ends, 7) }, api.ErrLarge},
-		{func(r *api.Rules) { r.Ends[0].Kind = 3 }, api.ErrArg},
-		{func(r *api.Rules) { r.Repeat = 1 }, api.ErrRange},
-	} {
-		r, p := sample()
-		c.change(&r)
-		_, wrong := sample()
-		wrong.Turn = 2
-		for _, p := range []api.Position{p, {}, {Cells: p.Cells}, wrong} {
-			try(t, r, p, c.want)
-		}
-	}
-}
-
-// TestP118Positions has wrong positions of right rules.
-func TestP118Positions(t *testing.T) {
-	for _, c := range []struct {
-		change func(p *api.Position)
-		want   api.Errno
-	}{
-		{func(p *api.Position) { *p = api.Position{} }, api.ErrForm},
-		{func(p *api.Position) { p.Cells = nil }, api.ErrForm},
-		{func(p *api.Position) { p.Cells = p.Cells[:11] }, api.ErrForm},
-		{func(p *api.Position) { p.Cells = append(p.Cells, 0) }, api.ErrForm},
-		{func(p *api.Position) { p.Hands[0] = nil }, api.ErrForm},
-		{func(p *api.Position) { p.Hands[1] = p.Hands[1][:2] }, api.ErrForm},
-		{func(p *api.Position) { p.Hands[0] = append(p.Hands[0], 0) }, api.ErrForm},
-		{func(p *api.Position) { p.Turn, p.Hands[1] = 2, nil }, api.ErrForm},
-		{func(p *api.Position) { p.Cells[0] = 7 }, api.ErrRange},
-		{func(p *api.Position) { p.Cells[11] = -1 }, api.ErrRange},
-		{func(p *api.Position) { p.Hands[0][2] = 1001 }, api.ErrRange},
-		{func(p *api.Position) { p.Hands[1][0] = -1 }, api.ErrRange},
-		{func(p *api.Position) { p.Turn = -1 }, api.ErrRange},
-		{func(p *api.Position) { p.Turn = 2 }, api.ErrRange},
-		{func(p *api.Position) { p.Quiet = 201 }, api.ErrRange},
-	} {
-		r, p := sample()
-		c.change(&p)
-		try(t, r, p, c.want)
+// TestP118Wrong has wrong rules with positions that are right and wrong, and wrong positions of right rules.
+func TestP118Wrong(t *testing.T) {
+	r, p := sample()
+	for _, w := range testkit.Wrongs(r, p) {
+		try(t, w.Rules, w.Position, w.Err)
 	}
 }
 
