@@ -48,20 +48,6 @@ repeat 2
 
 const samplePosition = "sg1/S1s/1s1/1GS S1 - 1 2"
 
-// stepRules has two pieces that step to and fro without end, or win by stepping on.
-const stepRules = `game STEP 2 2
-piece A 0 -
-way 1 0 1 never
-way -1 0 1 never
-way 0 1 1 never
-row a.
-row A.
-end reach A wins
-blocked loses
-quiet 0
-repeat 2
-`
-
 func rulesOf(t *testing.T, text string) api.Rules {
 	t.Helper()
 	r, err := ruletext.Parse(text)
@@ -89,7 +75,7 @@ func sample() (api.Rules, api.Position) {
 
 // three returns the rules of three in a row on a board of 3 by 3, and their beginning.
 func three() (api.Rules, api.Position) {
-	r := api.Rules{Name: "TIC", Width: 3, Height: 3, Pieces: []api.RulePiece{{Letter: 'A', Hand: 5}}, Start: make([]int, 9), Ends: []api.RuleEnd{{Kind: api.EndLine, Count: 3}}, Blocked: api.BlockedDraws}
+	r := testkit.Three()
 	p, _ := place.Begin(r)
 	return r, p
 }
@@ -382,7 +368,7 @@ func refuseAll(t *testing.T, b *board.Board, r api.Rules, want api.Errno) {
 // TestP131Over has moves that end a game for each reason: none can be made after them, legal or not, but they can be taken back. Then it has boards that begin there.
 func TestP131Over(t *testing.T) {
 	row, _ := three()
-	step, camp := rulesOf(t, stepRules), rulesOf(t, sampleRules)
+	step, camp := testkit.Steps(), rulesOf(t, sampleRules)
 	lost := func(r api.Rules) api.Rules {
 		r.Ends = slices.Clone(r.Ends)
 		r.Ends[0].Loses = true
@@ -467,21 +453,16 @@ func TestP131NotLegal(t *testing.T) {
 	}
 }
 
-// toAndFro returns the n-th move of a game by stepRules that goes on for ever.
-func toAndFro(n int) api.Move {
-	return []api.Move{{From: 0, To: 1}, {From: 2, To: 3}, {From: 1, To: 0}, {From: 3, To: 2}}[n%4]
-}
-
-// walked returns a board by stepRules with so many moves, and the views of it before each of them.
+// walked returns a board by the rules of testkit.Steps with so many moves, and the views of it before each of them.
 func walked(t *testing.T, n int) (*board.Board, []string) {
 	t.Helper()
-	r := rulesOf(t, stepRules)
+	r := testkit.Steps()
 	p, _ := place.Begin(r)
 	b := open(t, r, p)
 	var views []string
 	for i := range n {
 		views = append(views, view(b))
-		do(t, b, toAndFro(i))
+		do(t, b, testkit.ToAndFro(i))
 	}
 	return b, views
 }
@@ -489,14 +470,14 @@ func walked(t *testing.T, n int) (*board.Board, []string) {
 // TestP131Full has a game of 400 moves. It is not over, so that it still has legal moves, of which none can be made.
 func TestP131Full(t *testing.T) {
 	b, views := walked(t, 400)
-	r := rulesOf(t, stepRules)
+	r := testkit.Steps()
 	expect(t, b, r, read(t, r, "a1/A1 - - 1 200"), 400)
 	if got := show(r, b.Moves()); got != "0-1A" || b.Result() != api.Open || b.Len() != 400 {
 		t.Errorf("after 400 moves: %q, %d, %d", got, b.Result(), b.Len())
 	}
 	for _, m := range append(testkit.Candidates(r), testkit.MovesOf(extremes)...) {
 		want := api.ErrMove
-		if m == toAndFro(0) {
+		if m == testkit.ToAndFro(0) {
 			want = api.ErrFull
 		}
 		if err := b.Do(m); err != want {
@@ -505,8 +486,8 @@ func TestP131Full(t *testing.T) {
 	}
 	// There is room for one move again, and for no more.
 	undo(t, b, 1)
-	do(t, b, toAndFro(399))
-	refuse(t, b, toAndFro(0), api.ErrFull)
+	do(t, b, testkit.ToAndFro(399))
+	refuse(t, b, testkit.ToAndFro(0), api.ErrFull)
 	for i := len(views) - 1; i >= 0; i-- {
 		undo(t, b, 1)
 		if got := view(b); got != views[i] {
@@ -523,33 +504,33 @@ func TestP131FullAndOver(t *testing.T) {
 	if b.Result() != api.WinsSecond || b.Len() != 400 {
 		t.Errorf("after 400 moves: %d, %d", b.Result(), b.Len())
 	}
-	refuseAll(t, b, rulesOf(t, stepRules), api.ErrOver)
+	refuseAll(t, b, testkit.Steps(), api.ErrOver)
 	undo(t, b, 1)
 	refuse(t, b, api.Move{From: 0, To: 3}, api.ErrMove)
-	do(t, b, toAndFro(399))
-	refuse(t, b, toAndFro(0), api.ErrFull)
+	do(t, b, testkit.ToAndFro(399))
+	refuse(t, b, testkit.ToAndFro(0), api.ErrFull)
 }
 
 // TestP131TakenBackMovesDoNotCount makes more than 400 moves, but takes most of them back.
 func TestP131TakenBackMovesDoNotCount(t *testing.T) {
 	b, _ := walked(t, 3)
 	for range 500 {
-		do(t, b, toAndFro(3))
+		do(t, b, testkit.ToAndFro(3))
 		undo(t, b, 1)
 	}
 	for i := 3; i < 400; i++ {
-		do(t, b, toAndFro(i))
+		do(t, b, testkit.ToAndFro(i))
 		if b.Len() != i+1 {
 			t.Errorf("after %d moves Len has %d", i+1, b.Len())
 		}
 	}
-	refuse(t, b, toAndFro(0), api.ErrFull)
+	refuse(t, b, testkit.ToAndFro(0), api.ErrFull)
 }
 
 // TestP132RepeatDoesNotMatter has the beginning of a game a hundred times, where the rules permit two.
 func TestP132RepeatDoesNotMatter(t *testing.T) {
 	b, _ := walked(t, 396)
-	r := rulesOf(t, stepRules)
+	r := testkit.Steps()
 	p, _ := place.Begin(r)
 	if !place.Same(b.Position(), p) || b.Result() != api.Open || len(b.Moves()) != 1 {
 		t.Errorf("the beginning again: %s", view(b))

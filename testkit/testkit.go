@@ -89,6 +89,22 @@ func Boards() [][2]int {
 	return l
 }
 
+// Three returns the rules of three in a row on a board of 3 by 3.
+func Three() api.Rules {
+	return api.Rules{Name: "TIC", Width: 3, Height: 3, Pieces: []api.RulePiece{{Letter: 'A', Hand: 5}}, Start: make([]int, 9), Ends: []api.RuleEnd{{Kind: api.EndLine, Count: 3}}, Blocked: api.BlockedDraws}
+}
+
+// Steps returns the rules of a game in which each player has a piece that steps to and fro without end, or wins by stepping on.
+func Steps() api.Rules {
+	ways := []api.RuleWay{{DX: 1, Most: 1}, {DX: -1, Most: 1}, {DY: 1, Most: 1}}
+	return api.Rules{Name: "STEP", Width: 2, Height: 2, Pieces: []api.RulePiece{{Letter: 'A', Ways: ways}}, Start: []int{1, 0, 2, 0}, Ends: []api.RuleEnd{{Kind: api.EndReach}}, Repeat: 2}
+}
+
+// ToAndFro returns the move of Steps after n moves, from 0, if both players step to and fro.
+func ToAndFro(n int) api.Move {
+	return []api.Move{{From: 0, To: 1}, {From: 2, To: 3}, {From: 1, To: 0}, {From: 3, To: 2}}[n%4]
+}
+
 // AnyRules returns rules that are right. What they say is chosen by choose, which returns a number from 0 to n-1 for each n of at least 1.
 func AnyRules(choose func(n int) int) api.Rules {
 	from := func(low, high int) int { return low + choose(high-low+1) }

@@ -93,6 +93,36 @@ func TestBoards(t *testing.T) {
 	}
 }
 
+// TestThree has the first moves of a game.
+func TestThree(t *testing.T) {
+	r := testkit.Three()
+	p, err := place.Begin(r)
+	for n := 9; n > 4; n-- {
+		l, _ := moves.All(r, p)
+		if len(l) != n || err != api.OK {
+			t.Errorf("in %+v there are the moves %v, %d, want %d", p, l, err, n)
+		}
+		p, err = moves.After(r, p, l[0])
+	}
+}
+
+// TestSteps has a beginning that occurs again with each fourth move, and in which only Second can step on, too.
+func TestSteps(t *testing.T) {
+	r := testkit.Steps()
+	begin, err := place.Begin(r)
+	p := begin
+	for n := range 400 {
+		if again := place.Same(p, begin); again != (n%4 == 0) || err != api.OK {
+			t.Fatalf("after %d moves: %+v, %d", n, p, err)
+		}
+		m := testkit.ToAndFro(n)
+		if on, _ := moves.Legal(r, p, api.Move{From: m.From, To: (m.From + 2) % 4}); on != (p.Turn == api.Second) {
+			t.Fatalf("after %d moves stepping on is legal: %v", n, on)
+		}
+		p, err = moves.After(r, p, m)
+	}
+}
+
 // ends returns functions that choose always the least number, or the greatest one, and one that chooses without a pattern.
 func ends(seed uint64) []func(n int) int {
 	return []func(n int) int{
