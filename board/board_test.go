@@ -25,28 +25,10 @@ import (
 // extremes are ints at and beyond all the bounds that occur in the chapter.
 var extremes = []int{math.MinInt, math.MinInt + 1, -1000, -64, -8, -2, -1, 0, 1, 2, 3, 5, 6, 7, 8, 63, 64, 65, 199, 200, 201, 399, 400, 401, 999, 1000, 1001, 1 << 32, math.MaxInt - 1, math.MaxInt}
 
-// sampleRules has pieces that are put, move, take, change, and are kept.
-const sampleRules = `game CAMP 3 4
-piece S 1 G
-way 0 1 1 never
-way 1 1 1 must
-way -1 1 1 must
-piece G 0 -
-way 1 0 2 may
-way -1 0 2 may
-way 0 -1 1 may
-row sgs
-row ...
-row ...
-row SGS
-keeps
-end take G 1 wins
-blocked draws
-quiet 6
-repeat 2
-`
-
-const samplePosition = "sg1/S1s/1s1/1GS S1 - 1 2"
+const (
+	sampleRules    = testkit.CampRules
+	samplePosition = testkit.CampPosition
+)
 
 func rulesOf(t *testing.T, text string) api.Rules {
 	t.Helper()

@@ -57,49 +57,13 @@ func sample() api.Rules {
 	return r
 }
 
-// small returns rules of a small board, so that positions occur again soon. On about every second board each player has one piece that steps to and fro.
-func small(choose func(n int) int) api.Rules {
-	r := api.Rules{Name: "SMALL", Width: 2 + choose(2), Height: 2 + choose(2), Falls: choose(4) == 0, Keeps: choose(2) == 0, Blocked: choose(3)}
-	r.Start = make([]int, r.Width*r.Height)
-	if choose(2) == 0 {
-		r.Pieces = []api.RulePiece{{Letter: 'A', Ways: []api.RuleWay{{DX: 1, Most: 1}, {DX: -1, Most: 1}}}}
-		r.Start[choose(r.Width)], r.Start[r.Width+choose(r.Width)] = 1, 2
-	} else {
-		r.Pieces = []api.RulePiece{stepper('A', choose), stepper('B', choose)}
-		for i := range r.Start {
-			r.Start[i] = max(0, choose(12)-7)
-		}
-	}
-	if choose(5) > 0 {
-		r.Repeat = 2 + choose(4)
-	}
-	if choose(4) == 0 {
-		r.Quiet = 1 + choose(30)
-	}
-	if choose(3) == 0 {
-		r.Ends = []api.RuleEnd{{Kind: api.EndTake, Piece: choose(len(r.Pieces)), Count: 1, Loses: choose(2) == 0}}
-	}
-	return r
-}
-
-// stepper returns a type that moves to squares nearby, and may change into one of two types.
-func stepper(letter byte, choose func(n int) int) api.RulePiece {
-	p := api.RulePiece{Letter: letter, Hand: choose(2), Promote: choose(3)}
-	for _, d := range [][2]int{{1, 0}, {-1, 0}, {0, 1}, {0, -1}, {1, 1}, {-1, 1}, {1, -1}, {-1, -1}} {
-		if choose(3) > 0 {
-			p.Ways = append(p.Ways, api.RuleWay{DX: d[0], DY: d[1], Most: 1 + choose(2), Take: choose(3)})
-		}
-	}
-	return p
-}
-
 // games returns an iterator over the rules of the sample and so many others, the same for each call. Half of them have small boards.
 func games(n int) iter.Seq[api.Rules] {
 	return func(yield func(api.Rules) bool) {
 		random := rand.New(rand.NewPCG(10, 133))
 		for goOn, left := yield(sample()), n; goOn && left > 0; left-- {
 			if left%2 == 0 {
-				goOn = yield(small(random.IntN))
+				goOn = yield(testkit.SmallRules(random.IntN))
 			} else {
 				r, _ := testkit.AnyGame(random.IntN)
 				goOn = yield(r)

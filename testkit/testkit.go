@@ -105,6 +105,30 @@ func ToAndFro(n int) api.Move {
 	return []api.Move{{From: 0, To: 1}, {From: 2, To: 3}, {From: 1, To: 0}, {From: 3, To: 2}}[n%4]
 }
 
+// CampRules are rules as text, with pieces that are put, move, take, change, and are kept. The game ends when a piece is taken, or nothing happens. CampPosition is a position of it as text, in which First can take that piece.
+const (
+	CampRules = `game CAMP 3 4
+piece S 1 G
+way 0 1 1 never
+way 1 1 1 must
+way -1 1 1 must
+piece G 0 -
+way 1 0 2 may
+way -1 0 2 may
+way 0 -1 1 may
+row sgs
+row ...
+row ...
+row SGS
+keeps
+end take G 1 wins
+blocked draws
+quiet 6
+repeat 2
+`
+	CampPosition = "sg1/S1s/1s1/1GS S1 - 1 2"
+)
+
 // AnyRules returns rules that are right. What they say is chosen by choose, which returns a number from 0 to n-1 for each n of at least 1.
 func AnyRules(choose func(n int) int) api.Rules {
 	from := func(low, high int) int { return low + choose(high-low+1) }
@@ -139,6 +163,42 @@ func AnyRules(choose func(n int) int) api.Rules {
 		r.Repeat = from(2, api.MaxRepeat)
 	}
 	return r
+}
+
+// SmallRules returns rules of a small board, chosen as by AnyRules, so that there are few moves and positions occur again soon. On about every second board each player has one piece that steps to and fro.
+func SmallRules(choose func(n int) int) api.Rules {
+	r := api.Rules{Name: "SMALL", Width: 2 + choose(2), Height: 2 + choose(2), Falls: choose(4) == 0, Keeps: choose(2) == 0, Blocked: choose(3)}
+	r.Start = make([]int, r.Width*r.Height)
+	if choose(2) == 0 {
+		r.Pieces = []api.RulePiece{{Letter: 'A', Ways: []api.RuleWay{{DX: 1, Most: 1}, {DX: -1, Most: 1}}}}
+		r.Start[choose(r.Width)], r.Start[r.Width+choose(r.Width)] = 1, 2
+	} else {
+		r.Pieces = []api.RulePiece{stepper('A', choose), stepper('B', choose)}
+		for i := range r.Start {
+			r.Start[i] = max(0, choose(12)-7)
+		}
+	}
+	if choose(5) > 0 {
+		r.Repeat = 2 + choose(4)
+	}
+	if choose(4) == 0 {
+		r.Quiet = 1 + choose(30)
+	}
+	if choose(3) == 0 {
+		r.Ends = []api.RuleEnd{{Kind: api.EndTake, Piece: choose(len(r.Pieces)), Count: 1, Loses: choose(2) == 0}}
+	}
+	return r
+}
+
+// stepper returns a type that moves to squares nearby, and may change into one of two types.
+func stepper(letter byte, choose func(n int) int) api.RulePiece {
+	p := api.RulePiece{Letter: letter, Hand: choose(2), Promote: choose(3)}
+	for _, d := range [][2]int{{1, 0}, {-1, 0}, {0, 1}, {0, -1}, {1, 1}, {-1, 1}, {1, -1}, {-1, -1}} {
+		if choose(3) > 0 {
+			p.Ways = append(p.Ways, api.RuleWay{DX: d[0], DY: d[1], Most: 1 + choose(2), Take: choose(3)})
+		}
+	}
+	return p
 }
 
 // anyCells returns cells of any kind; on about every second board most of them are empty.

@@ -10,6 +10,7 @@ import (
 	"gamehall/moves"
 	"gamehall/place"
 	"gamehall/rules"
+	"gamehall/ruletext"
 	"gamehall/testkit"
 )
 
@@ -123,6 +124,16 @@ func TestSteps(t *testing.T) {
 	}
 }
 
+// TestCamp has texts of rules and of a position, in which First can take the last piece of its kind.
+func TestCamp(t *testing.T) {
+	r, err := ruletext.Parse(testkit.CampRules)
+	p, readErr := place.Read(r, testkit.CampPosition)
+	legal, legalErr := moves.Legal(r, p, api.Move{From: 6, To: 10, Piece: 1})
+	if err != api.OK || readErr != api.OK || !legal || legalErr != api.OK {
+		t.Errorf("%+v, %d, %+v, %d, %v, %d", r, err, p, readErr, legal, legalErr)
+	}
+}
+
 // ends returns functions that choose always the least number, or the greatest one, and one that chooses without a pattern.
 func ends(seed uint64) []func(n int) int {
 	return []func(n int) int{
@@ -154,6 +165,32 @@ func TestAnyRules(t *testing.T) {
 	}
 	if want := 64 + 6 + 4 + 7 + 6 + 3 + 5; len(seen) != want {
 		t.Errorf("AnyRules has %d kinds of rules, want %d: %v", len(seen), want, seen)
+	}
+}
+
+// TestSmallRules has only rules that are right, with few moves at the beginning, and games that go on and that are over there.
+func TestSmallRules(t *testing.T) {
+	seen := map[string]bool{}
+	for seed := range uint64(1000) {
+		for _, choose := range ends(seed) {
+			r := testkit.SmallRules(choose)
+			p, err := place.Begin(r)
+			l, _ := moves.All(r, p)
+			if err != api.OK || r.Width > 3 || r.Height > 3 || len(l) > 36 {
+				t.Fatalf("SmallRules: %+v, for which Begin has %d, with the moves %v", r, err, l)
+			}
+			seen[fmt.Sprint("size ", r.Width, r.Height)] = true
+			seen[fmt.Sprint("types ", len(r.Pieces))] = true
+			seen[fmt.Sprint("flags ", r.Falls, r.Keeps)] = true
+			seen[fmt.Sprint("ends ", len(r.Ends))] = true
+			seen[fmt.Sprint("blocked ", r.Blocked)] = true
+			seen[fmt.Sprint("quiet ", r.Quiet > 0)] = true
+			seen[fmt.Sprint("repeat ", r.Repeat)] = true
+			seen[fmt.Sprint("moves ", len(l) > 0)] = true
+		}
+	}
+	if want := 4 + 2 + 4 + 2 + 3 + 2 + 5 + 2; len(seen) != want {
+		t.Errorf("SmallRules has %d kinds of rules, want %d: %v", len(seen), want, seen)
 	}
 }
 
