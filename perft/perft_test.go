@@ -24,69 +24,6 @@ import (
 // extremes are ints at and beyond all the bounds that occur in the chapter.
 var extremes = []int{math.MinInt, math.MinInt + 1, -1000, -64, -8, -2, -1, 0, 1, 2, 3, 5, 6, 7, 8, 11, 12, 13, 63, 64, 65, 199, 200, 201, 999, 1000, 1001, 49999, 50000, 50001, 1 << 32, math.MaxInt - 1, math.MaxInt}
 
-// fallRules has few pieces, so that there are few enough sequences to the greatest depth.
-const fallRules = `game FALL 3 2
-piece A 1 -
-way 1 0 1 may
-piece B 1 -
-way 1 1 1 must
-row ...
-row ...
-falls
-keeps
-end line 3 loses
-blocked wins
-quiet 3
-repeat 0
-`
-
-const pawnRules = `game HEXAPAWN 3 3
-piece P 0 -
-way 0 1 1 never
-way -1 1 1 must
-way 1 1 1 must
-row ppp
-row ...
-row PPP
-end reach P wins
-blocked loses
-quiet 0
-repeat 0
-`
-
-// mostRules has 50000 sequences of at most 12 moves, and moreRules 50001 of at most 11.
-const (
-	mostRules = `game MOST 3 4
-piece A 0 -
-way -1 1 2 may
-way 0 -1 2 may
-way 1 1 7 may
-row .A.
-row ...
-row a..
-row ...
-end take A 1 wins
-blocked loses
-quiet 0
-repeat 0
-`
-	moreRules = `game MORE 3 4
-piece A 0 -
-way -1 0 1 may
-way 0 1 7 may
-way 1 -1 1 may
-way 1 1 2 may
-row ...
-row ...
-row .a.
-row .A.
-end take A 1 wins
-blocked loses
-quiet 0
-repeat 0
-`
-)
-
 func rulesOf(t *testing.T, text string) api.Rules {
 	t.Helper()
 	r, err := ruletext.Parse(text)
@@ -122,38 +59,16 @@ func three() (api.Rules, api.Position) {
 	return r, p
 }
 
-// games returns an iterator over the sample, the beginning of its game, and so many games of all kinds, the same for each call. Half of them have small boards, and in many of them something ends games soon.
+// games returns an iterator over the sample, the beginning of its game, and so many games of all kinds, the same for each call.
 func games(n int) iter.Seq2[api.Rules, api.Position] {
 	return func(yield func(api.Rules, api.Position) bool) {
 		r, p := sample()
 		begin, _ := place.Begin(r)
 		random := rand.New(rand.NewPCG(11, 137))
 		for goOn, left := yield(r, p) && yield(r, begin), n; goOn && left > 0; left-- {
-			if left%2 == 0 {
-				goOn = yield(smallGame(random.IntN))
-				continue
-			}
-			r, p := testkit.AnyGame(random.IntN)
-			if random.IntN(3) > 0 {
-				r.Ends, r.Quiet = r.Ends[:min(len(r.Ends), random.IntN(2))], 0
-			}
-			goOn = yield(r, p)
+			goOn = yield(testkit.SearchGame(random.IntN))
 		}
 	}
-}
-
-// smallGame returns a game on a small board, of which about half have no hands or are quiet for so long that one move more or some end them.
-func smallGame(choose func(n int) int) (api.Rules, api.Position) {
-	r := testkit.SmallRules(choose)
-	p, _ := place.Begin(r)
-	p.Turn, p.Quiet = choose(2), max(0, r.Quiet-1-choose(5))
-	if choose(3) == 0 {
-		p.Hands = [2][]int{make([]int, len(r.Pieces)), make([]int, len(r.Pieces))}
-	}
-	if choose(3) == 0 {
-		r.Ends = append(r.Ends, api.RuleEnd{Kind: api.EndReach, Piece: choose(len(r.Pieces)), Loses: choose(2) == 0})
-	}
-	return r, p
 }
 
 // show writes the parts with the letters of the types, and an @ for the hand.
@@ -291,12 +206,12 @@ func TestP138Written(t *testing.T) {
 			"4-2G:9 8-5S:8 10-11G:8",
 			"4-2G:86 8-5S:20 10-11G:19",
 		}},
-		{fallRules, "", []int{1, 6, 36, 108, 293, 291, 239, 308, 493, 541, 409, 352, 500}, []string{
+		{testkit.FallRules, "", []int{1, 6, 36, 108, 293, 291, 239, 308, 493, 541, 409, 352, 500}, []string{
 			"@0A:1 @0B:1 @1A:1 @1B:1 @2A:1 @2B:1",
 			"@0A:6 @0B:6 @1A:6 @1B:6 @2A:6 @2B:6",
 			"@0A:22 @0B:16 @1A:22 @1B:16 @2A:16 @2B:16",
 		}},
-		{pawnRules, "", []int{1, 3, 10, 28, 56, 70, 64, 20, 0, 0, 0, 0, 0}, []string{
+		{testkit.PawnRules, "", []int{1, 3, 10, 28, 56, 70, 64, 20, 0, 0, 0, 0, 0}, []string{
 			"0-3P:1 1-4P:1 2-5P:1",
 			"0-3P:3 1-4P:4 2-5P:3",
 			"0-3P:8 1-4P:12 2-5P:8",
@@ -441,11 +356,11 @@ func TestP137Depth(t *testing.T) {
 
 // TestP137Bound has exactly as many sequences as are permitted, and one more. Both games have a depth with fewer sequences of exactly this length, which do not matter.
 func TestP137Bound(t *testing.T) {
-	most := written{mostRules, "", []int{1, 2, 6, 21, 38, 83, 227, 493, 1045, 2506, 5481, 12094, 28003}, nil}
-	more := written{moreRules, "", []int{1, 3, 8, 29, 54, 169, 322, 901, 2266, 5452, 11932}, nil}
+	most := written{testkit.MostRules, "", []int{1, 2, 6, 21, 38, 83, 227, 493, 1045, 2506, 5481, 12094, 28003}, nil}
+	more := written{testkit.MoreRules, "", []int{1, 3, 8, 29, 54, 169, 322, 901, 2266, 5452, 11932}, nil}
 	most.try(t)
 	more.try(t)
-	r := rulesOf(t, mostRules)
+	r := rulesOf(t, testkit.MostRules)
 	parts, err := perft.Divide(r, read(t, r, ""), 12)
 	n := 0
 	for _, part := range parts {

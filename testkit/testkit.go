@@ -7,6 +7,7 @@ import (
 	"strconv"
 
 	"gamehall/api"
+	"gamehall/place"
 )
 
 // Roomy returns a copy of a slice with unused capacity, which is not empty.
@@ -129,6 +130,66 @@ repeat 2
 	CampPosition = "sg1/S1s/1s1/1GS S1 - 1 2"
 )
 
+// Rules as text of games that are searched from their beginning. FallRules has few pieces, so that there are few enough sequences of moves to the greatest depth, and PawnRules are those of hexapawn. MostRules has 50000 sequences of at most 12 moves, and MoreRules 50001 of at most 11.
+const (
+	FallRules = `game FALL 3 2
+piece A 1 -
+way 1 0 1 may
+piece B 1 -
+way 1 1 1 must
+row ...
+row ...
+falls
+keeps
+end line 3 loses
+blocked wins
+quiet 3
+repeat 0
+`
+	PawnRules = `game HEXAPAWN 3 3
+piece P 0 -
+way 0 1 1 never
+way -1 1 1 must
+way 1 1 1 must
+row ppp
+row ...
+row PPP
+end reach P wins
+blocked loses
+quiet 0
+repeat 0
+`
+	MostRules = `game MOST 3 4
+piece A 0 -
+way -1 1 2 may
+way 0 -1 2 may
+way 1 1 7 may
+row .A.
+row ...
+row a..
+row ...
+end take A 1 wins
+blocked loses
+quiet 0
+repeat 0
+`
+	MoreRules = `game MORE 3 4
+piece A 0 -
+way -1 0 1 may
+way 0 1 7 may
+way 1 -1 1 may
+way 1 1 2 may
+row ...
+row ...
+row .a.
+row .A.
+end take A 1 wins
+blocked loses
+quiet 0
+repeat 0
+`
+)
+
 // AnyRules returns rules that are right. What they say is chosen by choose, which returns a number from 0 to n-1 for each n of at least 1.
 func AnyRules(choose func(n int) int) api.Rules {
 	from := func(low, high int) int { return low + choose(high-low+1) }
@@ -243,6 +304,32 @@ func AnyGame(choose func(n int) int) (api.Rules, api.Position) {
 	p := AnyPosition(r, choose)
 	if choose(4) == 0 {
 		p.Quiet = api.MaxQuiet - choose(3)
+	}
+	return r, p
+}
+
+// SmallGame returns a game on a small board, chosen as by SmallRules, and a position of it. In about half of them there are no hands, or one move more or some end the game since they are quiet.
+func SmallGame(choose func(n int) int) (api.Rules, api.Position) {
+	r := SmallRules(choose)
+	p, _ := place.Begin(r)
+	p.Turn, p.Quiet = choose(2), max(0, r.Quiet-1-choose(5))
+	if choose(3) == 0 {
+		p.Hands = [2][]int{make([]int, len(r.Pieces)), make([]int, len(r.Pieces))}
+	}
+	if choose(3) == 0 {
+		r.Ends = append(r.Ends, api.RuleEnd{Kind: api.EndReach, Piece: choose(len(r.Pieces)), Loses: choose(2) == 0})
+	}
+	return r, p
+}
+
+// SearchGame returns a game and a position of it, of which a search to a small depth is worthwhile: about half of them are those of SmallGame, and in many of the others, which are those of AnyGame, conditions are few and no move is taken for quiet, so that they go on.
+func SearchGame(choose func(n int) int) (api.Rules, api.Position) {
+	if choose(2) == 0 {
+		return SmallGame(choose)
+	}
+	r, p := AnyGame(choose)
+	if choose(3) > 0 {
+		r.Ends, r.Quiet = r.Ends[:min(len(r.Ends), choose(2))], 0
 	}
 	return r, p
 }

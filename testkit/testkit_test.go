@@ -134,6 +134,17 @@ func TestCamp(t *testing.T) {
 	}
 }
 
+// TestSearched has texts of rules by which the beginnings go on.
+func TestSearched(t *testing.T) {
+	for _, text := range []string{testkit.FallRules, testkit.PawnRules, testkit.MostRules, testkit.MoreRules} {
+		r, err := ruletext.Parse(text)
+		p, _ := place.Begin(r)
+		if l, _ := moves.All(r, p); len(l) == 0 || err != api.OK {
+			t.Errorf("the text %q has rules with the error %d, and first moves %v", text, err, l)
+		}
+	}
+}
+
 // ends returns functions that choose always the least number, or the greatest one, and one that chooses without a pattern.
 func ends(seed uint64) []func(n int) int {
 	return []func(n int) int{
@@ -250,6 +261,34 @@ func TestAnyGame(t *testing.T) {
 	}
 	if want := 2 + 3 + 4 + 2 + 2; len(seen) != want {
 		t.Errorf("AnyGame has %d kinds of games, want %d: %v", len(seen), want, seen)
+	}
+}
+
+// TestSearchGame has rules and positions that are right, on small boards and large ones, with and without hands and conditions, and some that one quiet move more or few end.
+func TestSearchGame(t *testing.T) {
+	seen := map[string]bool{}
+	for seed := range uint64(1000) {
+		for _, choose := range ends(seed) {
+			r, p := testkit.SearchGame(choose)
+			if err := place.Check(r, p); err != api.OK {
+				t.Fatalf("SearchGame: %+v, %+v, for which Check has %d", r, p, err)
+			}
+			seen[fmt.Sprint("small ", r.Name == "SMALL")] = true
+			seen[fmt.Sprint("hands ", slices.Max(p.Hands[0]) > 0)] = true
+			seen[fmt.Sprint("turn ", p.Turn)] = true
+			seen[fmt.Sprint("ends ", min(len(r.Ends), 3))] = true
+			for _, e := range r.Ends {
+				seen[fmt.Sprint("end ", e.Kind, e.Loses)] = true
+			}
+			if r.Quiet == 0 {
+				seen["never quiet"] = true
+			} else if left := r.Quiet - p.Quiet; left > 0 {
+				seen[fmt.Sprint("left ", min(left, 6))] = true
+			}
+		}
+	}
+	if want := 2 + 2 + 2 + 4 + 6 + 1 + 6; len(seen) != want {
+		t.Errorf("SearchGame has %d kinds of games, want %d: %v", len(seen), want, seen)
 	}
 }
 
